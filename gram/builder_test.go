@@ -12,6 +12,7 @@ import (
 
 	"dovetail/api"
 	"dovetail/gram"
+	"dovetail/probe"
 )
 
 // P3.5
@@ -270,17 +271,17 @@ func byNames(g api.Grammar) []string {
 	return list
 }
 
-func order(size int, n *numbers) []int {
+func order(size int, n *probe.Numbers) []int {
 	list := make([]int, size)
 	for i := range list {
-		k := n.below(i + 1)
+		k := n.Below(i + 1)
 		list[i], list[k] = list[k], i
 	}
 	return list
 }
 
 func TestBuilderToldWithOtherNumbers(t *testing.T) {
-	var n numbers
+	var n probe.Numbers
 	for _, g := range manyGrammars() {
 		terms, nonterms := order(len(g.Terms), &n), order(len(g.Nonterms), &n)
 		told := telling(t, g, terms, nonterms)

@@ -2,51 +2,27 @@ package gram_test
 
 import (
 	"cmp"
-	"errors"
 	"math"
 	"reflect"
 	"slices"
-	"strconv"
 	"strings"
 	"testing"
 	"unsafe"
 
 	"dovetail/api"
 	"dovetail/gram"
+	"dovetail/probe"
 )
 
-// allErrors are the errors of package api, of which an error is just one.
-var allErrors = []error{
-	api.ErrArg, api.ErrSyntax, api.ErrBounds, api.ErrNotOperator, api.ErrMatrix, api.ErrTooBig, api.ErrRefused, api.ErrCut,
-	api.ErrPlan, api.ErrName, api.ErrTree, api.ErrLong, api.ErrForm, api.ErrSum, api.ErrNone,
-}
-
 // noRule is what checkError wants of an error that tells no rule.
-const noRule = -1
+const noRule = probe.None
 
 func checkError(t *testing.T, what string, err, want error, rule int) {
 	t.Helper()
-	for _, e := range allErrors {
-		if errors.Is(err, e) != (e == want) {
-			t.Errorf("%s: %v, want %v", what, err, want)
-			return
-		}
+	if probe.Which(err) != want || probe.RuleOf(err) != rule {
+		t.Errorf("%s: %v, want %v in rule %d", what, err, want, rule)
 	}
-	if (err == nil) != (want == nil) {
-		t.Errorf("%s: %v, want %v", what, err, want)
-		return
-	}
-	at := noRule
-	var r *api.RuleError
-	if errors.As(err, &r) {
-		at = r.Rule
-	}
-	if at != rule {
-		t.Errorf("%s: %v in rule %d, want %d", what, err, at, rule)
-	}
-	var p *api.PlaceError
-	var b *api.PairError
-	if errors.As(err, &p) || errors.As(err, &b) {
+	if _, ok := probe.PairOf(err); ok || probe.PlaceOf(err) != probe.None {
 		t.Errorf("%s: %v tells a place or a pair", what, err)
 	}
 }
@@ -58,37 +34,20 @@ func sums() api.Grammar {
 	return api.Grammar{Terms: []string{"+", "i"}, Nonterms: []string{"E"}, Rules: []api.Rule{rule(0, -1, 0, -1), rule(0, 1)}}
 }
 
-// names are n names, no two the same.
-func names(prefix string, n int) []string {
-	list := make([]string, n)
-	for i := range list {
-		list[i] = prefix + strconv.Itoa(i)
-	}
-	return list
-}
-
-// numbers is a row of numbers that look mixed, the same ones every time.
-type numbers uint64
-
-func (n *numbers) below(bound int) int {
-	*n = *n*6364136223846793005 + 1442695040888963407
-	return int((uint64(*n) >> 33) % uint64(bound))
-}
-
 // mixed is a grammar that may be, with many renamings.
-func mixed(n *numbers) api.Grammar {
-	g := api.Grammar{Terms: names("t", 1+n.below(3)), Nonterms: names("n", 1+n.below(9))}
-	g.Axiom = n.below(len(g.Nonterms))
-	for range n.below(16) {
+func mixed(n *probe.Numbers) api.Grammar {
+	g := api.Grammar{Terms: probe.Names("t", 1+n.Below(3)), Nonterms: probe.Names("n", 1+n.Below(9))}
+	g.Axiom = n.Below(len(g.Nonterms))
+	for range n.Below(16) {
 		size := 1
-		if n.below(4) == 0 {
-			size = n.below(4)
+		if n.Below(4) == 0 {
+			size = n.Below(4)
 		}
-		r := rule(n.below(len(g.Nonterms)))
+		r := rule(n.Below(len(g.Nonterms)))
 		for range size {
-			symbol := -1 - n.below(len(g.Nonterms))
-			if n.below(5) == 0 {
-				symbol = n.below(len(g.Terms))
+			symbol := -1 - n.Below(len(g.Nonterms))
+			if n.Below(5) == 0 {
+				symbol = n.Below(len(g.Terms))
 			}
 			r.Right = append(r.Right, symbol)
 		}
@@ -100,7 +59,7 @@ func mixed(n *numbers) api.Grammar {
 // manyGrammars are grammars that may be: the smallest, the greatest, and mixed ones.
 func manyGrammars() []api.Grammar {
 	list := []api.Grammar{sums(), {Nonterms: []string{"S"}}, greatest()}
-	var n numbers
+	var n probe.Numbers
 	for range 400 {
 		list = append(list, mixed(&n))
 	}
@@ -109,7 +68,7 @@ func manyGrammars() []api.Grammar {
 
 // greatest is at all bounds at once.
 func greatest() api.Grammar {
-	g := api.Grammar{Terms: names("t", 24), Nonterms: names(strings.Repeat("n", api.MaxName-2), 36), Axiom: 35}
+	g := api.Grammar{Terms: probe.Names("t", 24), Nonterms: probe.Names(strings.Repeat("n", api.MaxName-2), 36), Axiom: 35}
 	g.Nonterms[0], g.Nonterms[1] = strings.Repeat("n", api.MaxName), strings.Repeat("\xff", api.MaxName)
 	for k := range api.MaxSource {
 		r := rule(k % 36)
@@ -128,8 +87,8 @@ func TestCheckTakes(t *testing.T) {
 		"sums":                          sums(),
 		"at all bounds":                 greatest(),
 		"a nonterminal alone":           {Nonterms: []string{"S"}},
-		"60 nonterminals":               {Nonterms: names("n", 60), Axiom: 59},
-		"59 terminals":                  {Terms: names("t", 59), Nonterms: []string{"S"}},
+		"60 nonterminals":               {Nonterms: probe.Names("n", 60), Axiom: 59},
+		"59 terminals":                  {Terms: probe.Names("t", 59), Nonterms: []string{"S"}},
 		"an empty right side":           {Nonterms: []string{"S"}, Rules: []api.Rule{{}, {Right: []int{}}}},
 		"one rule twice":                {Nonterms: []string{"S"}, Terms: []string{"a"}, Rules: []api.Rule{{Right: []int{0}}, {Right: []int{0}}}},
 		"a name on both sides":          {Nonterms: []string{"a", "b"}, Terms: []string{"b", "a"}},
@@ -164,8 +123,10 @@ func faults() [][]fault {
 	long := strings.Repeat("x", api.MaxName+1)
 	return [][]fault{
 		{
-			{"61 symbols", func(g *api.Grammar) { g.Terms = append(g.Terms, names("t", 61-len(g.Terms)-len(g.Nonterms))...) }, api.ErrBounds, noRule},
-			{"61 symbols, most nonterminals", func(g *api.Grammar) { g.Nonterms = append(g.Nonterms, names("n", 61-len(g.Terms)-len(g.Nonterms))...) }, api.ErrBounds, noRule},
+			{"61 symbols", func(g *api.Grammar) { g.Terms = append(g.Terms, probe.Names("t", 61-len(g.Terms)-len(g.Nonterms))...) }, api.ErrBounds, noRule},
+			{"61 symbols, most nonterminals", func(g *api.Grammar) {
+				g.Nonterms = append(g.Nonterms, probe.Names("n", 61-len(g.Terms)-len(g.Nonterms))...)
+			}, api.ErrBounds, noRule},
 			{"121 rules", func(g *api.Grammar) { g.Rules = append(g.Rules, make([]api.Rule, 121-len(g.Rules))...) }, api.ErrBounds, noRule},
 		},
 		{
@@ -235,8 +196,8 @@ func TestCheckTellsTheFirstFault(t *testing.T) {
 func TestCheckOfNoNonterminals(t *testing.T) {
 	checkError(t, "nothing", gram.Check(api.Grammar{}), api.ErrArg, noRule)
 	checkError(t, "empty lists", gram.Check(api.Grammar{Terms: []string{}, Nonterms: []string{}, Rules: []api.Rule{}}), api.ErrArg, noRule)
-	checkError(t, "60 terminals", gram.Check(api.Grammar{Terms: names("t", 60)}), api.ErrArg, noRule)
-	checkError(t, "61 terminals", gram.Check(api.Grammar{Terms: names("t", 61)}), api.ErrBounds, noRule)
+	checkError(t, "60 terminals", gram.Check(api.Grammar{Terms: probe.Names("t", 60)}), api.ErrArg, noRule)
+	checkError(t, "61 terminals", gram.Check(api.Grammar{Terms: probe.Names("t", 61)}), api.ErrBounds, noRule)
 	checkError(t, "rules of none", gram.Check(api.Grammar{Terms: []string{"a"}, Rules: []api.Rule{{Right: make([]int, 33)}}}), api.ErrArg, noRule)
 	checkError(t, "axiom -1", gram.Check(api.Grammar{Axiom: -1}), api.ErrArg, noRule)
 }
@@ -263,7 +224,7 @@ func strange() []api.Grammar {
 		{Axiom: math.MinInt},
 		{Axiom: math.MaxInt, Rules: []api.Rule{{Left: math.MinInt, Right: []int{math.MaxInt, math.MinInt}}, {}}},
 		{Terms: []string{"a", "b", "a", "", ""}, Nonterms: []string{"", "b", "b"}, Rules: make([]api.Rule, 200)},
-		{Terms: names("t", 100), Nonterms: names("n", 100), Rules: []api.Rule{{Right: make([]int, 1000)}}},
+		{Terms: probe.Names("t", 100), Nonterms: probe.Names("n", 100), Rules: []api.Rule{{Right: make([]int, 1000)}}},
 		{Terms: []string{strings.Repeat("long", 1000)}, Nonterms: []string{strings.Repeat("long", 1000)}},
 	}
 	for _, f := range slices.Concat(faults()...) {
@@ -496,7 +457,7 @@ func TestAbove(t *testing.T) {
 
 // Sixty nonterminals in a row, by renamings that stand from the first on, and from the last on.
 func TestAboveOfALongRow(t *testing.T) {
-	g := api.Grammar{Nonterms: names("n", 60)}
+	g := api.Grammar{Nonterms: probe.Names("n", 60)}
 	want := []api.Set{1}
 	for k := range 59 {
 		g.Rules = append(g.Rules, rule(k, -1-(k+1)))
@@ -754,7 +715,7 @@ func TestExamples(t *testing.T) {
 	checkError(t, "E: 2", with(withRules(rule(0, 2))), api.ErrArg, 2)
 	checkError(t, "a terminal without bytes", with(func(g *api.Grammar) { g.Terms = append(g.Terms, "") }), api.ErrName, noRule)
 	checkError(t, "no nonterminals", with(func(g *api.Grammar) { g.Nonterms = nil }), api.ErrArg, noRule)
-	checkError(t, "61 symbols", with(func(g *api.Grammar) { g.Terms = names("t", 60) }), api.ErrBounds, noRule)
+	checkError(t, "61 symbols", with(func(g *api.Grammar) { g.Terms = probe.Names("t", 60) }), api.ErrBounds, noRule)
 	checkError(t, "33 symbols", with(func(g *api.Grammar) { g.Rules[1].Right = make([]int, 33) }), api.ErrBounds, 1)
 	i, isTerm := gram.Term(sums(), "i")
 	_, noTerm := gram.Term(sums(), "E")

@@ -3,11 +3,11 @@ package show_test
 import (
 	"regexp"
 	"slices"
-	"strconv"
 	"strings"
 
 	"dovetail/api"
 	"dovetail/gram"
+	"dovetail/probe"
 	"dovetail/words"
 )
 
@@ -88,19 +88,14 @@ func textOf(g api.Grammar) string {
 	return text
 }
 
-// numbers is a row of numbers that look mixed, the same ones every time.
-type numbers uint64
-
-func (n *numbers) below(bound int) int {
-	*n = *n*6364136223846793005 + 1442695040888963407
-	return int((uint64(*n) >> 33) % uint64(bound))
-}
+// numbers is a row of numbers that look mixed, and what is chosen by them.
+type numbers struct{ probe.Numbers }
 
 // someNames are up to count of the names, no two the same.
 func (n *numbers) someNames(count int, from ...string) []string {
 	var list []string
 	for range count {
-		if name := from[n.below(len(from))]; !slices.Contains(list, name) {
+		if name := from[n.Below(len(from))]; !slices.Contains(list, name) {
 			list = append(list, name)
 		}
 	}
@@ -110,39 +105,30 @@ func (n *numbers) someNames(count int, from ...string) []string {
 // mixed is a grammar that may be. Most are nearly readable: only the rules' order, or one name, is in the way.
 func mixed(n *numbers) api.Grammar {
 	g := api.Grammar{
-		Terms:    n.someNames(n.below(4), "a", "b", "S", "T", "|", ":", "a b", "\"", "#", "#a", "\n", "\x80", "::", "$", "?"),
-		Nonterms: append([]string{"S"}, n.someNames(n.below(3), "T", "U", "a", "||", "x#", "$", "<", "é")...),
+		Terms:    n.someNames(n.Below(4), "a", "b", "S", "T", "|", ":", "a b", "\"", "#", "#a", "\n", "\x80", "::", "$", "?"),
+		Nonterms: append([]string{"S"}, n.someNames(n.Below(3), "T", "U", "a", "||", "x#", "$", "<", "é")...),
 	}
-	if n.below(12) == 0 {
-		g.Axiom = n.below(len(g.Nonterms))
+	if n.Below(12) == 0 {
+		g.Axiom = n.Below(len(g.Nonterms))
 	}
-	if n.below(24) == 0 {
-		g.Nonterms[n.below(len(g.Nonterms))] = []string{"|", ":", "#", "a b", "\""}[n.below(5)]
+	if n.Below(24) == 0 {
+		g.Nonterms[n.Below(len(g.Nonterms))] = []string{"|", ":", "#", "a b", "\""}[n.Below(5)]
 	}
 	left := 0
-	for range n.below(9) {
+	for range n.Below(9) {
 		r := rule(left)
-		for range n.below(4) {
-			r.Right = append(r.Right, n.below(len(g.Terms)+len(g.Nonterms))-len(g.Nonterms))
+		for range n.Below(4) {
+			r.Right = append(r.Right, n.Below(len(g.Terms)+len(g.Nonterms))-len(g.Nonterms))
 		}
 		g.Rules = append(g.Rules, r)
-		if n.below(2) == 0 {
+		if n.Below(2) == 0 {
 			left = (left + 1) % len(g.Nonterms)
 		}
-		if n.below(8) == 0 {
-			left = n.below(len(g.Nonterms))
+		if n.Below(8) == 0 {
+			left = n.Below(len(g.Nonterms))
 		}
 	}
 	return g
-}
-
-// names are n names, no two the same.
-func names(prefix string, n int) []string {
-	list := make([]string, n)
-	for i := range list {
-		list[i] = prefix + strconv.Itoa(i)
-	}
-	return list
 }
 
 // longest has the longest text of all that may be: as many rules, as long right sides, as long names as there can be, each byte of four in the text.

@@ -1,7 +1,6 @@
 package show_test
 
 import (
-	"errors"
 	"math"
 	"slices"
 	"strings"
@@ -10,38 +9,16 @@ import (
 
 	"dovetail/api"
 	"dovetail/gram"
+	"dovetail/probe"
 	"dovetail/show"
 	"dovetail/spec"
 )
 
-// allErrors are the errors of package api, of which an error is just one.
-var allErrors = []error{
-	api.ErrArg, api.ErrSyntax, api.ErrBounds, api.ErrNotOperator, api.ErrMatrix, api.ErrTooBig, api.ErrRefused, api.ErrCut,
-	api.ErrPlan, api.ErrName, api.ErrTree, api.ErrLong, api.ErrForm, api.ErrSum, api.ErrNone,
-}
-
 // noRule is the rule of an error that tells none.
-const noRule = -1
+const noRule = probe.None
 
 // told is what an error tells: the one of all that it is, and its rule.
-func told(err error) (which error, rule int) {
-	var found []error
-	for _, e := range allErrors {
-		if errors.Is(err, e) {
-			found = append(found, e)
-		}
-	}
-	which = errors.Join(found...)
-	if len(found) == 1 {
-		which = found[0]
-	}
-	rule = noRule
-	var r *api.RuleError
-	if errors.As(err, &r) {
-		rule = r.Rule
-	}
-	return which, rule
-}
+func told(err error) (which error, rule int) { return probe.Which(err), probe.RuleOf(err) }
 
 func rule(left int, right ...int) api.Rule { return api.Rule{Left: left, Right: right} }
 
@@ -181,7 +158,7 @@ func TestReadableOfForm(t *testing.T) {
 
 func TestReadableTellsCheckFirst(t *testing.T) {
 	many := sums()
-	many.Terms = names("t", 59)
+	many.Terms = probe.Names("t", 59)
 	many.Nonterms[0] = "a b"
 	checkRefused(t, many, api.ErrBounds, noRule)
 	twice := sums()
@@ -268,7 +245,7 @@ func TestSymbolOfNonterminals(t *testing.T) {
 }
 
 func TestSymbolsOfGrammarsThatMayNotBe(t *testing.T) {
-	g := api.Grammar{Terms: append(names("t", 70), "t1", strings.Repeat("x", 99)), Nonterms: list("S", "S"), Axiom: 9, Rules: []api.Rule{rule(7, 99)}}
+	g := api.Grammar{Terms: append(probe.Names("t", 70), "t1", strings.Repeat("x", 99)), Nonterms: list("S", "S"), Axiom: 9, Rules: []api.Rule{rule(7, 99)}}
 	if got := show.Symbols(g, 0, 70, 71, 72, 73, -1, -2, -3); got != "t0 t1 "+strings.Repeat("x", 99)+" $ ? S S ?" {
 		t.Errorf("Symbols: %q", got)
 	}
@@ -359,10 +336,10 @@ func TestWhatIsReadIsReadable(t *testing.T) {
 	read := 0
 	for range 20000 {
 		text := ""
-		for range n.below(6) {
-			text += list("S :", "T :", " U\t: #", "|", "a :", "S# :")[n.below(6)]
-			for range n.below(7) {
-				text += " " + list("|", "S", "T", "a", "b", "\"S\"", "\"|\"", "\":\"", "\"a b\"", "\"a\"", "S#", "\"\\x80\"")[n.below(12)]
+		for range n.Below(6) {
+			text += list("S :", "T :", " U\t: #", "|", "a :", "S# :")[n.Below(6)]
+			for range n.Below(7) {
+				text += " " + list("|", "S", "T", "a", "b", "\"S\"", "\"|\"", "\":\"", "\"a b\"", "\"a\"", "S#", "\"\\x80\"")[n.Below(12)]
 			}
 			text += "\n"
 		}

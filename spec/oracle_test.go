@@ -8,6 +8,7 @@ import (
 
 	"dovetail/api"
 	"dovetail/gram"
+	"dovetail/probe"
 	"dovetail/words"
 )
 
@@ -16,7 +17,7 @@ type reading struct {
 	grammar api.Grammar
 	places  []int
 	err     error
-	// at is the place of ErrSyntax; rule that of ErrBounds, or noRule.
+	// at is the place of ErrSyntax; rule that of ErrBounds, or probe.None.
 	at   int
 	rule int
 }
@@ -106,9 +107,9 @@ func number(list *[]string, name string) int {
 func readingOf(text string) reading {
 	lines, at := linesOf(text)
 	if at >= 0 {
-		return reading{err: api.ErrSyntax, at: at, rule: noRule}
+		return reading{err: api.ErrSyntax, at: at, rule: probe.None}
 	}
-	r := reading{rule: noRule}
+	r := reading{rule: probe.None}
 	g := &r.grammar
 	for _, l := range lines {
 		if kindOf(l.words[0]) == "n" {
@@ -131,7 +132,7 @@ func readingOf(text string) reading {
 	case errors.As(err, &e):
 		return reading{err: api.ErrBounds, rule: e.Rule}
 	case err != nil:
-		return reading{err: api.ErrBounds, rule: noRule}
+		return reading{err: api.ErrBounds, rule: probe.None}
 	}
 	return r
 }

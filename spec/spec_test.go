@@ -2,7 +2,6 @@ package spec_test
 
 import (
 	"cmp"
-	"errors"
 	"reflect"
 	"slices"
 	"strconv"
@@ -12,44 +11,14 @@ import (
 
 	"dovetail/api"
 	"dovetail/gram"
+	"dovetail/probe"
 	"dovetail/spec"
 	"dovetail/words"
 )
 
-// allErrors are the errors of package api, of which an error is just one.
-var allErrors = []error{
-	api.ErrArg, api.ErrSyntax, api.ErrBounds, api.ErrNotOperator, api.ErrMatrix, api.ErrTooBig, api.ErrRefused, api.ErrCut,
-	api.ErrPlan, api.ErrName, api.ErrTree, api.ErrLong, api.ErrForm, api.ErrSum, api.ErrNone,
-}
-
-// noRule, noPlace: what an error tells that tells none.
-const (
-	noRule  = -1
-	noPlace = -1
-)
-
 // told is what an error tells: the one of all that it is, its place, its rule.
 func told(err error) (which error, at, rule int) {
-	var found []error
-	for _, e := range allErrors {
-		if errors.Is(err, e) {
-			found = append(found, e)
-		}
-	}
-	which = errors.Join(found...)
-	if len(found) == 1 {
-		which = found[0]
-	}
-	at, rule = noPlace, noRule
-	var p *api.PlaceError
-	if errors.As(err, &p) {
-		at = p.At
-	}
-	var r *api.RuleError
-	if errors.As(err, &r) {
-		rule = r.Rule
-	}
-	return which, at, rule
+	return probe.Which(err), probe.PlaceOf(err), probe.RuleOf(err)
 }
 
 // short is a text as a fault is told of it.
@@ -75,12 +44,12 @@ func checkRefused(t *testing.T, text string, want error, at, rule int) {
 
 func checkWrong(t *testing.T, text string, at int) {
 	t.Helper()
-	checkRefused(t, text, api.ErrSyntax, at, noRule)
+	checkRefused(t, text, api.ErrSyntax, at, probe.None)
 }
 
 func checkBounds(t *testing.T, text string, rule int) {
 	t.Helper()
-	checkRefused(t, text, api.ErrBounds, noPlace, rule)
+	checkRefused(t, text, api.ErrBounds, probe.None, rule)
 }
 
 func checkRead(t *testing.T, text string, want api.Grammar) {
@@ -116,15 +85,6 @@ func rule(left int, right ...int) api.Rule { return api.Rule{Left: left, Right: 
 // list is texts in a row, shorter to write in grammars.
 func list(names ...string) []string { return names }
 
-// names are n names, no two the same.
-func names(prefix string, n int) []string {
-	list := make([]string, n)
-	for i := range list {
-		list[i] = prefix + strconv.Itoa(i)
-	}
-	return list
-}
-
 // ruleLines are rule lines of those left sides, without names behind.
 func ruleLines(lefts []string) string { return strings.Join(lefts, " :\n") + " :\n" }
 
@@ -145,35 +105,30 @@ func texts(n int, parts ...string) []string {
 	return list
 }
 
-// numbers is a row of numbers that look mixed, the same ones every time.
-type numbers uint64
+// numbers is a row of numbers that look mixed, and what is chosen by them.
+type numbers struct{ probe.Numbers }
 
-func (n *numbers) below(bound int) int {
-	*n = *n*6364136223846793005 + 1442695040888963407
-	return int((uint64(*n) >> 33) % uint64(bound))
-}
-
-func (n *numbers) one(list ...string) string { return list[n.below(len(list))] }
+func (n *numbers) one(list ...string) string { return list[n.Below(len(list))] }
 
 // mixedText is a text of right lines and, now and then, a wrong one.
 func mixedText(n *numbers) string {
 	var text strings.Builder
-	for range n.below(7) {
-		switch n.below(12) {
+	for range n.Below(7) {
+		switch n.Below(12) {
 		case 0:
 			text.WriteString(n.one("", "#", "\t", "# S : a", " | # |", "|"))
 		case 1:
 			text.WriteString(n.one("S", ": a", "\"S\" :", "| a : b", "S : \"", "S : \"\"", "\x80", "S :a", "S : a\"", "S : \x00 :"))
 		default:
 			text.WriteString(n.one("S :", "T :", "  U\t:", "|", "a :"))
-			for range n.below(9) {
+			for range n.Below(9) {
 				text.WriteString(n.one(" ", " ", "  ", "\t"))
 				text.WriteString(n.one("|", "|", "S", "T", "U", "a", "b", "\"S\"", "\"|\"", "\":\"", "\"a b\"", "\"a\"", "::", "|b", "#"))
 			}
 		}
 		text.WriteString("\n")
 	}
-	if s := text.String(); n.below(2) == 0 {
+	if s := text.String(); n.Below(2) == 0 {
 		return strings.TrimSuffix(s, "\n")
 	}
 	return text.String()
@@ -322,30 +277,30 @@ func TestLongTexts(t *testing.T) {
 	checkRead(t, text, api.Grammar{Terms: list("a"), Nonterms: list("S"), Rules: []api.Rule{rule(0, 0)}})
 	checkPlaces(t, text, len(text)-1)
 	checkWrong(t, text+" :", len(text)+1)
-	checkBounds(t, strings.Repeat("S :\n", 100000), noRule)
-	checkBounds(t, ruleLines(names("n", 100000)), noRule)
-	checkBounds(t, "S : "+strings.Join(names("t", 100000), " "), noRule)
+	checkBounds(t, strings.Repeat("S :\n", 100000), probe.None)
+	checkBounds(t, ruleLines(probe.Names("n", 100000)), probe.None)
+	checkBounds(t, "S : "+strings.Join(probe.Names("t", 100000), " "), probe.None)
 }
 
 func TestSymbolBounds(t *testing.T) {
-	sixty := "S : " + strings.Join(names("a", 30), " ") + "\n| " + strings.Join(names("b", 29), " ")
+	sixty := "S : " + strings.Join(probe.Names("a", 30), " ") + "\n| " + strings.Join(probe.Names("b", 29), " ")
 	if g, err := spec.Read(sixty); err != nil || len(g.Terms) != 59 {
 		t.Errorf("60 symbols: %v %v", g, err)
 	}
-	checkBounds(t, sixty+" c", noRule)
-	checkRead(t, ruleLines(names("n", 60)), api.Grammar{Nonterms: names("n", 60), Rules: readingOf(ruleLines(names("n", 60))).grammar.Rules})
-	checkBounds(t, ruleLines(names("n", 61)), noRule)
-	checkBounds(t, ruleLines(names("n", 60))+"| a", noRule)
-	checkBounds(t, ruleLines(names("n", 60))+"| \"n0\"", noRule)
-	checkAsRead(t, ruleLines(names("n", 60))+"| n0")
+	checkBounds(t, sixty+" c", probe.None)
+	checkRead(t, ruleLines(probe.Names("n", 60)), api.Grammar{Nonterms: probe.Names("n", 60), Rules: readingOf(ruleLines(probe.Names("n", 60))).grammar.Rules})
+	checkBounds(t, ruleLines(probe.Names("n", 61)), probe.None)
+	checkBounds(t, ruleLines(probe.Names("n", 60))+"| a", probe.None)
+	checkBounds(t, ruleLines(probe.Names("n", 60))+"| \"n0\"", probe.None)
+	checkAsRead(t, ruleLines(probe.Names("n", 60))+"| n0")
 }
 
 func TestRuleBounds(t *testing.T) {
 	if g, err := spec.Read("S :" + strings.Repeat(" |", 119)); err != nil || len(g.Rules) != 120 {
 		t.Errorf("120 rules: %v %v", g, err)
 	}
-	checkBounds(t, "S :"+strings.Repeat(" |", 120), noRule)
-	checkBounds(t, strings.Repeat("S :\n", 60)+strings.Repeat("|\n", 61), noRule)
+	checkBounds(t, "S :"+strings.Repeat(" |", 120), probe.None)
+	checkBounds(t, strings.Repeat("S :\n", 60)+strings.Repeat("|\n", 61), probe.None)
 	checkAsRead(t, strings.Repeat("S :\n", 60)+strings.Repeat("|\n", 60))
 }
 
@@ -356,12 +311,12 @@ func TestRightSideBounds(t *testing.T) {
 	checkBounds(t, "S :"+full+" | |"+over+" |"+over, 2)
 	checkBounds(t, "S : a\nT :"+full+"\n| S"+full+"\nS :"+over, 2)
 	// What is too many in all comes first.
-	checkBounds(t, "S :"+over+strings.Repeat(" |", 120), noRule)
-	checkBounds(t, "S :"+over+"\n"+ruleLines(names("n", 60)), noRule)
+	checkBounds(t, "S :"+over+strings.Repeat(" |", 120), probe.None)
+	checkBounds(t, "S :"+over+"\n"+ruleLines(probe.Names("n", 60)), probe.None)
 }
 
 func TestSyntaxAheadOfBounds(t *testing.T) {
-	for _, text := range []string{"S :" + strings.Repeat(" a", 33) + "\n", ruleLines(names("n", 61)), "S :" + strings.Repeat(" |", 120) + "\n"} {
+	for _, text := range []string{"S :" + strings.Repeat(" a", 33) + "\n", ruleLines(probe.Names("n", 61)), "S :" + strings.Repeat(" |", 120) + "\n"} {
 		checkBounds(t, text, readingOf(text).rule)
 		checkWrong(t, text+"T", len(text)+1)
 		checkWrong(t, text+"T : \"", len(text)+5)
@@ -389,9 +344,9 @@ func TestAnyBytes(t *testing.T) {
 	}
 	var n numbers
 	for range 20000 {
-		text := make([]byte, n.below(12))
+		text := make([]byte, n.Below(12))
 		for i := range text {
-			text[i] = byte(n.below(256))
+			text[i] = byte(n.Below(256))
 		}
 		checkAsRead(t, string(text))
 	}
@@ -459,11 +414,11 @@ type side struct {
 }
 
 func mixedSides(n *numbers) []side {
-	sides := []side{{left: "S"}, {left: "T"}, {left: "U"}}[:1+n.below(3)]
+	sides := []side{{left: "S"}, {left: "T"}, {left: "U"}}[:1+n.Below(3)]
 	for i := range sides {
-		for range 1 + n.below(4) {
+		for range 1 + n.Below(4) {
 			right := []string{}
-			for range n.below(4) {
+			for range n.Below(4) {
 				right = append(right, n.one("a", "b", "S", "T", "U", "\"S\"", "\"|\"", "\"a\"", "\"c\\n\""))
 			}
 			sides[i].rights = append(sides[i].rights, strings.Join(right, " "))
@@ -486,13 +441,13 @@ func anyLayout(n *numbers, sides []side) string {
 	var text strings.Builder
 	end := func() {
 		text.WriteString(n.one("", " ", "\t", " # : |", "  #\"", "\t#\x80") + "\n")
-		for n.below(3) == 0 {
+		for n.Below(3) == 0 {
 			text.WriteString(n.one("", "\t ", "# S : a", " #") + "\n")
 		}
 	}
 	for _, s := range sides {
 		for i, right := range s.rights {
-			switch way := n.below(3); {
+			switch way := n.Below(3); {
 			case i > 0 && way == 0:
 				text.WriteString(n.one(" ", "\t ") + "|")
 			case i > 0 && way == 1:
@@ -509,7 +464,7 @@ func anyLayout(n *numbers, sides []side) string {
 			}
 		}
 	}
-	if n.below(2) == 0 {
+	if n.Below(2) == 0 {
 		end()
 	}
 	return text.String()
@@ -666,8 +621,8 @@ func TestExamples(t *testing.T) {
 	_, at, _ := told(err)
 	checkWrong(t, "S : \"", at)
 	checkWrong(t, "S : \"\"", 4)
-	checkBounds(t, "S : "+strings.Join(names("t", 33), " "), 0)
-	checkBounds(t, "S :"+strings.Repeat(" a |", 120), noRule)
-	checkBounds(t, "S : "+strings.Join(names("t", 30), " ")+" | "+strings.Join(names("u", 30), " "), noRule)
+	checkBounds(t, "S : "+strings.Join(probe.Names("t", 33), " "), 0)
+	checkBounds(t, "S :"+strings.Repeat(" a |", 120), probe.None)
+	checkBounds(t, "S : "+strings.Join(probe.Names("t", 30), " ")+" | "+strings.Join(probe.Names("u", 30), " "), probe.None)
 	checkPlaces(t, "S : a | |b", 4, 8)
 }

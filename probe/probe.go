@@ -1,0 +1,84 @@
+// Package probe holds what the tests of several packages share. No layer calls it.
+package probe
+
+import (
+	"errors"
+	"strconv"
+
+	"dovetail/api"
+)
+
+// None is the rule or the place of an error that tells none.
+const None = -1
+
+var errUnclear = errors.New("probe: not just one of the errors")
+
+// Which is the one of package api's errors that an error is, as errors.Is tells; where it is none of them, or several, an error that no test wants.
+func Which(err error) error {
+	if err == nil {
+		return nil
+	}
+	which := errUnclear
+	for _, e := range apiErrors() {
+		switch {
+		case !errors.Is(err, e):
+		case which != errUnclear:
+			return errUnclear
+		default:
+			which = e
+		}
+	}
+	return which
+}
+
+func apiErrors() []error {
+	return []error{
+		api.ErrArg, api.ErrSyntax, api.ErrBounds, api.ErrNotOperator, api.ErrMatrix, api.ErrTooBig, api.ErrRefused, api.ErrCut,
+		api.ErrPlan, api.ErrName, api.ErrTree, api.ErrLong, api.ErrForm, api.ErrSum, api.ErrNone,
+	}
+}
+
+// RuleOf is the rule that an error tells, or None.
+func RuleOf(err error) int {
+	var r *api.RuleError
+	if errors.As(err, &r) {
+		return r.Rule
+	}
+	return None
+}
+
+// PlaceOf is the place that an error tells, or None.
+func PlaceOf(err error) int {
+	var p *api.PlaceError
+	if errors.As(err, &p) {
+		return p.At
+	}
+	return None
+}
+
+// PairOf is the pair that an error tells, if it tells one.
+func PairOf(err error) (api.Pair, bool) {
+	var p *api.PairError
+	if errors.As(err, &p) {
+		return p.Pair, true
+	}
+	return api.Pair{}, false
+}
+
+// Numbers is a row of numbers that look mixed, the same ones every time.
+type Numbers uint64
+
+// Below is the next number, from 0 on and below the bound, which is to be above 0.
+func (n *Numbers) Below(bound int) int {
+	*n = *n*6364136223846793005 + 1442695040888963407
+	return int((uint64(*n) >> 33) % uint64(bound))
+}
+
+// Names are n names with that beginning, no two the same.
+func Names(prefix string, n int) []string {
+	list := make([]string, n)
+	for i := range list {
+		list[i] = prefix + strconv.Itoa(i)
+	}
+	return list
+}

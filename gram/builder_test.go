@@ -339,7 +339,7 @@ func TestBuilderGrammarIsNewMemory(t *testing.T) {
 			t.Errorf("two grammars of one Builder share memory: %v", second)
 		}
 		checkGrammar(t, "after its answer was changed", b, want)
-		if !listsApart(third) {
+		if !probe.GrammarsApart(third) {
 			t.Error("lists of a Builder's grammar share memory")
 		}
 		b.Rule(0)

@@ -1,7 +1,6 @@
 package gram_test
 
 import (
-	"cmp"
 	"math"
 	"reflect"
 	"slices"
@@ -634,38 +633,15 @@ func TestCopyIsNewMemory(t *testing.T) {
 	}
 }
 
-// span is where a list's memory begins and ends, with the room behind it.
-func span[T any](list []T) [2]uintptr {
-	from := uintptr(unsafe.Pointer(unsafe.SliceData(list)))
-	var one T
-	return [2]uintptr{from, from + uintptr(cap(list))*unsafe.Sizeof(one)}
-}
-
-// listsApart tells whether no two lists of a grammar share memory, the room behind them neither.
-func listsApart(g api.Grammar) bool {
-	spans := [][2]uintptr{span(g.Terms), span(g.Nonterms), span(g.Rules)}
-	for _, r := range g.Rules {
-		spans = append(spans, span(r.Right))
-	}
-	spans = slices.DeleteFunc(spans, func(s [2]uintptr) bool { return s[0] == s[1] })
-	slices.SortFunc(spans, func(a, b [2]uintptr) int { return cmp.Compare(a[0], b[0]) })
-	for i := range spans {
-		if i > 0 && spans[i-1][1] > spans[i][0] {
-			return false
-		}
-	}
-	return true
-}
-
 func TestListsOfACopyShareNothing(t *testing.T) {
 	for _, g := range append(manyGrammars(), strange()...) {
-		if !listsApart(gram.Copy(g)) {
+		if !probe.GrammarsApart(gram.Copy(g)) {
 			t.Errorf("lists of a copy of %v share memory", g)
 		}
 	}
 	shared := []int{0, 0, 0}
 	g := api.Grammar{Terms: []string{"t"}, Nonterms: []string{"S"}, Rules: []api.Rule{{Right: shared[:2]}, {Right: shared}, {Right: shared[1:]}}}
-	if !listsApart(gram.Copy(g)) {
+	if !probe.GrammarsApart(gram.Copy(g)) {
 		t.Error("what is shared in a grammar is shared in its copy")
 	}
 }

@@ -4,9 +4,7 @@ import (
 	"math"
 	"runtime"
 	"slices"
-	"strings"
 	"testing"
-	"unsafe"
 	"weak"
 
 	"dovetail/api"
@@ -116,33 +114,13 @@ func TestCheckKeepsRulesApart(t *testing.T) {
 }
 
 func TestCheckTellsGramsErrorFirst(t *testing.T) {
-	cases := []struct {
-		what string
-		turn func(g *api.Grammar)
-	}{
-		{"61 symbols", func(g *api.Grammar) { g.Terms = probe.Names("t", 59) }},
-		{"121 rules", func(g *api.Grammar) { g.Rules = slices.Repeat(g.Rules, 121) }},
-		{"a name twice", func(g *api.Grammar) { g.Nonterms[1] = "S" }},
-		{"a terminal without bytes", func(g *api.Grammar) { g.Terms[1] = "" }},
-		{"a name of 33 bytes", func(g *api.Grammar) { g.Terms[0] = strings.Repeat("x", 33) }},
-		{"an axiom that is none's", func(g *api.Grammar) { g.Axiom = 2 }},
-		{"no nonterminal", func(g *api.Grammar) { g.Nonterms = nil }},
-		{"a Left that is none's", func(g *api.Grammar) { g.Rules[1].Left = 2 }},
-		{"the end in a right side", func(g *api.Grammar) { g.Rules[2].Right[0] = 2 }},
-		{"a nonterminal that there isn't", func(g *api.Grammar) { g.Rules[2].Right[0] = -3 }},
-		{"the least symbol", func(g *api.Grammar) { g.Rules[2].Right[0] = math.MinInt }},
-		{"33 symbols", func(g *api.Grammar) { g.Rules[2].Right = slices.Repeat([]int{-1}, 33) }},
-	}
-	for _, c := range cases {
-		g := of(nil, []int{-1, -1}, []int{0})
-		c.turn(&g)
-		want, r := told(gram.Check(g))
+	for _, w := range probe.Wrongs(of(nil, []int{-1, -1}, []int{0})) {
+		want, r := told(gram.Check(w.Grammar))
 		if want == nil {
-			t.Fatalf("%s: gram takes it", c.what)
+			t.Fatalf("%s: gram takes it", w.What)
 		}
-		checkRefused(t, g, want, r)
+		checkRefused(t, w.Grammar, want, r)
 	}
-	checkRefused(t, api.Grammar{}, api.ErrArg, noRule)
 }
 
 // P6.2
@@ -190,7 +168,7 @@ func TestSkeletonAndTerms(t *testing.T) {
 	checkTerms(t, []int{})
 	checkTerms(t, []int{-9, math.MinInt, -1})
 	checkTerms(t, []int{5, 0, -1, 5, math.MaxInt}, placed{0, 5}, placed{1, 0}, placed{3, 5}, placed{4, math.MaxInt})
-	for _, right := range sides(6, -2, -1, 0, 1) {
+	for _, right := range probe.Sides(6, -2, -1, 0, 1) {
 		checkSkeleton(t, right, skeletonOf(right)...)
 		checkTerms(t, right, termsOf(right)...)
 	}
@@ -310,7 +288,7 @@ func TestTerminalsInOperatorForm(t *testing.T) {
 }
 
 func TestOneSkeleton(t *testing.T) {
-	all := sides(4, -2, -1, 0, 1)
+	all := probe.Sides(4, -2, -1, 0, 1)
 	for _, a := range all {
 		for _, b := range all {
 			one := slices.Equal(opform.Skeleton(a), opform.Skeleton(b))
@@ -327,43 +305,18 @@ func TestOneSkeleton(t *testing.T) {
 
 // P6.5
 
-// roomy is a grammar with spare room behind each of its lists, which holds what a call that went too far would take for more of the list.
-func roomy(g api.Grammar) api.Grammar {
-	g = gram.Copy(g)
-	g.Terms = append(g.Terms, "spare")[:len(g.Terms)]
-	g.Nonterms = append(g.Nonterms, "spare")[:len(g.Nonterms)]
-	for n, r := range g.Rules {
-		g.Rules[n].Right = append(r.Right, -1)[:len(r.Right)]
-	}
-	g.Rules = append(g.Rules, rule(0))[:len(g.Rules)]
-	return g
-}
-
-// whole is a grammar with its spare room as parts of its lists.
-func whole(g api.Grammar) api.Grammar {
-	g.Terms = g.Terms[:len(g.Terms)+1]
-	g.Nonterms = g.Nonterms[:len(g.Nonterms)+1]
-	g.Rules = slices.Clone(g.Rules[:len(g.Rules)+1])
-	for n, r := range g.Rules {
-		if cap(r.Right) > len(r.Right) {
-			g.Rules[n].Right = r.Right[:len(r.Right)+1]
-		}
-	}
-	return g
-}
-
 func TestNothingIsChanged(t *testing.T) {
 	for _, g := range append(manyGrammars()[:1000], strange()...) {
-		g = roomy(g)
-		before := gram.Copy(whole(g))
+		g = probe.Roomy(g)
+		before := gram.Copy(probe.Whole(g))
 		opform.Check(g)
 		opform.Faults(g)
 		for _, r := range g.Rules {
 			opform.Skeleton(r.Right)
 			walked(r.Right)
 		}
-		if !gram.Same(before, whole(g)) {
-			t.Fatalf("%v is changed to %v", before, whole(g))
+		if !gram.Same(before, probe.Whole(g)) {
+			t.Fatalf("%v is changed to %v", before, probe.Whole(g))
 		}
 	}
 }
@@ -383,34 +336,15 @@ func TestNothingIsKept(t *testing.T) {
 	checkTaken(t, g)
 }
 
-// span is where a list's memory begins and ends, with the room behind it.
-func span[T any](list []T) [2]uintptr {
-	from := uintptr(unsafe.Pointer(unsafe.SliceData(list)))
-	var one T
-	return [2]uintptr{from, from + uintptr(cap(list))*unsafe.Sizeof(one)}
-}
-
-// apart tells whether no two spans meet.
-func apart(spans ...[2]uintptr) bool {
-	for i, a := range spans {
-		for _, b := range spans[:i] {
-			if a[0] < b[1] && b[0] < a[1] {
-				return false
-			}
-		}
-	}
-	return true
-}
-
 func TestAnswersAreNewMemory(t *testing.T) {
-	for _, right := range sides(4, -1, 0) {
+	for _, right := range probe.Sides(4, -1, 0) {
 		right = append(slices.Clone(right), 7)[:len(right)]
-		if !apart(span(right), span(opform.Skeleton(right)), span(opform.Skeleton(right))) {
+		if !probe.Apart(right, opform.Skeleton(right), opform.Skeleton(right)) {
 			t.Errorf("skeletons of %v share memory", right)
 		}
 	}
 	g := of(nil, []int{-1, -1, -1})
-	if first, second := opform.Faults(g), opform.Faults(g); !apart(span(first), span(second)) {
+	if first, second := opform.Faults(g), opform.Faults(g); !probe.Apart(first, second) {
 		t.Error("lists of faults share memory")
 	}
 	if first, second := opform.Check(g), opform.Check(g); first == second {

@@ -59,21 +59,6 @@ func termsOf(right []int) []placed {
 	return list
 }
 
-// sides are all right sides of those symbols with at most that many of them, the empty one first.
-func sides(most int, symbols ...int) [][]int {
-	list := [][]int{nil}
-	for from := 0; most > 0; most-- {
-		longest := list[from:]
-		from = len(list)
-		for _, side := range longest {
-			for _, symbol := range symbols {
-				list = append(list, append(slices.Clone(side), symbol))
-			}
-		}
-	}
-	return list
-}
-
 // mixed is a grammar that may be. In most rules terminals and nonterminals stand by turns, so that about half of the grammars are in operator form; right sides have up to 32 symbols, and many have one skeleton.
 func mixed(n *probe.Numbers) api.Grammar {
 	g := api.Grammar{Terms: probe.Names("t", 1+n.Below(4)), Nonterms: probe.Names("n", 1+n.Below(4))}
@@ -115,7 +100,7 @@ func manyGrammars() []api.Grammar {
 // smallGrammars are all of up to two rules with short right sides over two terminals and two nonterminals.
 func smallGrammars() []api.Grammar {
 	list := []api.Grammar{of()}
-	some := sides(3, -2, -1, 0, 1)
+	some := probe.Sides(3, -2, -1, 0, 1)
 	for _, first := range some {
 		list = append(list, of(first))
 		for _, second := range some {

@@ -6,6 +6,7 @@ import (
 	"testing"
 
 	"dovetail/api"
+	"dovetail/gram"
 	"dovetail/probe"
 )
 
@@ -66,5 +67,92 @@ func TestNumbersComeAgain(t *testing.T) {
 func TestNames(t *testing.T) {
 	if got := probe.Names("n", 3); !slices.Equal(got, []string{"n0", "n1", "n2"}) {
 		t.Errorf("Names: %q", got)
+	}
+}
+
+func TestSides(t *testing.T) {
+	want := [][]int{nil, {-1}, {4}, {-1, -1}, {-1, 4}, {4, -1}, {4, 4}}
+	if got := probe.Sides(2, -1, 4); !slices.EqualFunc(got, want, slices.Equal[[]int]) {
+		t.Errorf("Sides: %v", got)
+	}
+	if got := probe.Sides(3); len(got) != 1 || len(got[0]) != 0 {
+		t.Errorf("Sides of no symbols: %v", got)
+	}
+}
+
+func nest() api.Grammar {
+	return api.Grammar{Terms: []string{"a", "b"}, Nonterms: []string{"S"}, Rules: []api.Rule{probe.Rule(0, 0, -1, 1), probe.Rule(0)}}
+}
+
+func TestWrongsAreRefused(t *testing.T) {
+	var seen []error
+	for _, w := range probe.Wrongs(nest()) {
+		err := gram.Check(w.Grammar)
+		if err == nil {
+			t.Errorf("%s: gram takes it", w.What)
+		}
+		seen = append(seen, probe.Which(err))
+	}
+	for _, want := range []error{api.ErrArg, api.ErrBounds, api.ErrName} {
+		if !slices.Contains(seen, want) {
+			t.Errorf("none is refused by %v", want)
+		}
+	}
+}
+
+func TestRoomyAndWhole(t *testing.T) {
+	g := nest()
+	roomy := probe.Roomy(g)
+	if !gram.Same(g, roomy) || !probe.GrammarsApart(g, roomy) {
+		t.Errorf("Roomy: %v", roomy)
+	}
+	want := api.Grammar{
+		Terms:    []string{"a", "b", "spare"},
+		Nonterms: []string{"S", "spare"},
+		Rules:    []api.Rule{probe.Rule(0, 0, -1, 1, -1), probe.Rule(0, -1), probe.Rule(0)},
+	}
+	if whole := probe.Whole(roomy); !gram.Same(whole, want) || !gram.Same(roomy, g) {
+		t.Errorf("Whole: %v", whole)
+	}
+	roomy.Rules[1].Right = append(roomy.Rules[1].Right, 1)[:0]
+	if gram.Same(probe.Whole(roomy), want) {
+		t.Error("what is written behind a list isn't told by Whole")
+	}
+}
+
+func TestApart(t *testing.T) {
+	room := []int{1, 2, 3, 4}
+	cases := []struct {
+		a, b []int
+		want bool
+	}{
+		{nil, nil, true},
+		{room, nil, true},
+		{room, []int{1, 2, 3, 4}, true},
+		{room[:2:2], room[2:], true},
+		{room[:2], room[2:], false},
+		{room[:0], room[3:], false},
+		{room[1:2], room[:1], false},
+		{room, room, false},
+	}
+	for _, c := range cases {
+		if probe.Apart(c.a, c.b) != c.want || probe.Apart(c.b, []int{5}, c.a) != c.want {
+			t.Errorf("Apart of %v and %v, want %v", c.a, c.b, c.want)
+		}
+	}
+}
+
+func TestGrammarsApart(t *testing.T) {
+	if g := nest(); !probe.GrammarsApart(g, nest(), gram.Copy(g)) || !probe.GrammarsApart() || probe.GrammarsApart(g, g) {
+		t.Error("grammars that share nothing, and all")
+	}
+	names, rules, sides := nest(), nest(), nest()
+	names.Nonterms = names.Terms[:1]
+	rules.Rules = rules.Rules[:1]
+	sides.Rules[1].Right = sides.Rules[0].Right[:0]
+	other := nest()
+	other.Rules = rules.Rules[1:]
+	if probe.GrammarsApart(names) || probe.GrammarsApart(rules, other) || probe.GrammarsApart(sides) {
+		t.Error("lists that share memory are told apart")
 	}
 }

@@ -382,43 +382,18 @@ func TestOneText(t *testing.T) {
 
 // P5.6
 
-// roomy is a grammar with spare room behind each of its lists, which holds what a call that went too far would take for more of the list.
-func roomy(g api.Grammar) api.Grammar {
-	g = gram.Copy(g)
-	g.Terms = append(g.Terms, "spare")[:len(g.Terms)]
-	g.Nonterms = append(g.Nonterms, "spare")[:len(g.Nonterms)]
-	for n, r := range g.Rules {
-		g.Rules[n].Right = append(r.Right, 0)[:len(r.Right)]
-	}
-	g.Rules = append(g.Rules, rule(0, 0))[:len(g.Rules)]
-	return g
-}
-
-// whole is a grammar with its spare room as parts of its lists.
-func whole(g api.Grammar) api.Grammar {
-	g.Terms = g.Terms[:len(g.Terms)+1]
-	g.Nonterms = g.Nonterms[:len(g.Nonterms)+1]
-	g.Rules = slices.Clone(g.Rules[:len(g.Rules)+1])
-	for n, r := range g.Rules {
-		if cap(r.Right) > len(r.Right) {
-			g.Rules[n].Right = r.Right[:len(r.Right)+1]
-		}
-	}
-	return g
-}
-
 func TestNothingIsChanged(t *testing.T) {
 	for _, g := range manyGrammars()[:2000] {
-		g = roomy(g)
-		before := gram.Copy(whole(g))
+		g = probe.Roomy(g)
+		before := gram.Copy(probe.Whole(g))
 		symbols := append([]int{-1, 0, 1, 2}, 7)[:4]
 		show.Text(g)
 		show.Readable(g)
 		show.Rule(g, 0)
 		show.Symbol(g, -1)
 		show.Symbols(g, symbols...)
-		if !gram.Same(before, whole(g)) || !slices.Equal(symbols[:5], []int{-1, 0, 1, 2, 7}) {
-			t.Fatalf("%v is changed to %v", before, whole(g))
+		if !gram.Same(before, probe.Whole(g)) || !slices.Equal(symbols[:5], []int{-1, 0, 1, 2, 7}) {
+			t.Fatalf("%v is changed to %v", before, probe.Whole(g))
 		}
 	}
 }

@@ -1,7 +1,6 @@
 package spec_test
 
 import (
-	"cmp"
 	"reflect"
 	"slices"
 	"strconv"
@@ -538,45 +537,17 @@ func TestPlacesOfRules(t *testing.T) {
 
 // P4.6
 
-// span is where a list's memory begins and ends, with the room behind it.
-func span[T any](list []T) [2]uintptr {
-	from := uintptr(unsafe.Pointer(unsafe.SliceData(list)))
-	var one T
-	return [2]uintptr{from, from + uintptr(cap(list))*unsafe.Sizeof(one)}
-}
-
-// spansOf are those of all lists of a grammar.
-func spansOf(g api.Grammar) [][2]uintptr {
-	spans := [][2]uintptr{span(g.Terms), span(g.Nonterms), span(g.Rules)}
-	for _, r := range g.Rules {
-		spans = append(spans, span(r.Right))
-	}
-	return spans
-}
-
-// apart tells whether no two spans meet.
-func apart(spans [][2]uintptr) bool {
-	spans = slices.DeleteFunc(spans, func(s [2]uintptr) bool { return s[0] == s[1] })
-	slices.SortFunc(spans, func(a, b [2]uintptr) int { return cmp.Compare(a[0], b[0]) })
-	for i := range spans {
-		if i > 0 && spans[i-1][1] > spans[i][0] {
-			return false
-		}
-	}
-	return true
-}
-
 const sums = "E : E + T | T # sums\nT : i |\n| \"E\" | i"
 
 func TestAnswersAreNewMemory(t *testing.T) {
 	first, _ := spec.Read(sums)
 	second, _ := spec.Read(sums)
-	if !apart(append(spansOf(first), spansOf(second)...)) {
+	if !probe.GrammarsApart(first, second) {
 		t.Error("lists of answers share memory")
 	}
 	places, _ := spec.Places(sums)
 	others, _ := spec.Places(sums)
-	if !apart([][2]uintptr{span(places), span(others)}) {
+	if !probe.Apart(places, others) {
 		t.Error("lists of places share memory")
 	}
 }

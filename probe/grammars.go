@@ -1,0 +1,62 @@
+package probe
+
+import (
+	"math"
+	"slices"
+	"strings"
+
+	"dovetail/api"
+	"dovetail/gram"
+)
+
+// Rule is a rule of that Left and those symbols.
+func Rule(left int, right ...int) api.Rule { return api.Rule{Left: left, Right: right} }
+
+// Sides are all right sides of those symbols with at most that many of them, the empty one first.
+func Sides(most int, symbols ...int) [][]int {
+	list := [][]int{nil}
+	for from := 0; most > 0; most-- {
+		longest := list[from:]
+		from = len(list)
+		for _, side := range longest {
+			for _, symbol := range symbols {
+				list = append(list, append(slices.Clone(side), symbol))
+			}
+		}
+	}
+	return list
+}
+
+// Wrong is a grammar that may not be.
+type Wrong struct {
+	What    string
+	Grammar api.Grammar
+}
+
+// Wrongs are forms of a grammar each of which gram.Check refuses. The grammar itself may be, and has room for a symbol and a rule more.
+func Wrongs(g api.Grammar) []Wrong {
+	var list []Wrong
+	add := func(what string, turn func(g *api.Grammar)) {
+		turned := gram.Copy(g)
+		turn(&turned)
+		list = append(list, Wrong{what, turned})
+	}
+	add("no grammar", func(g *api.Grammar) { *g = api.Grammar{} })
+	add("61 symbols", func(g *api.Grammar) { g.Terms = Names("t", api.MaxSymbols+1-len(g.Nonterms)) })
+	add("121 rules", func(g *api.Grammar) { g.Rules = slices.Repeat([]api.Rule{{}}, api.MaxSource+1) })
+	add("a nonterminal twice", func(g *api.Grammar) { g.Nonterms = append(g.Nonterms, g.Nonterms[0]) })
+	add("a terminal without bytes", func(g *api.Grammar) { g.Terms = append(g.Terms, "") })
+	add("a name of 33 bytes", func(g *api.Grammar) { g.Terms = append(g.Terms, strings.Repeat("x", api.MaxName+1)) })
+	add("no nonterminals", func(g *api.Grammar) { g.Nonterms = nil })
+	for _, axiom := range []int{len(g.Nonterms), -1, math.MinInt, math.MaxInt} {
+		add("an axiom that is none's", func(g *api.Grammar) { g.Axiom = axiom })
+	}
+	for _, left := range []int{len(g.Nonterms), -1, math.MinInt, math.MaxInt} {
+		add("a Left that is none's", func(g *api.Grammar) { g.Rules = append(g.Rules, Rule(left)) })
+	}
+	for _, symbol := range []int{len(g.Terms), -1 - len(g.Nonterms), math.MinInt, math.MaxInt} {
+		add("a symbol that there isn't", func(g *api.Grammar) { g.Rules = append(g.Rules, Rule(0, symbol)) })
+	}
+	add("33 symbols", func(g *api.Grammar) { g.Rules = append(g.Rules, Rule(0, slices.Repeat([]int{-1}, api.MaxRight+1)...)) })
+	return list
+}

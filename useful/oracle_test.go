@@ -1,0 +1,286 @@
+package useful_test
+
+import (
+	"slices"
+	"strings"
+
+	"dovetail/api"
+	"dovetail/probe"
+	"dovetail/spec"
+)
+
+// read is the grammar of a text; its lines are parted by ; here.
+func read(text string) api.Grammar {
+	g, err := spec.Read(strings.ReplaceAll(text, ";", "\n"))
+	if err != nil {
+		panic(text + ": " + err.Error())
+	}
+	return g
+}
+
+// nontermsOf are the nonterminals of a right side.
+func nontermsOf(right []int) api.Set {
+	var found api.Set
+	for _, symbol := range right {
+		if symbol < 0 {
+			found |= 1 << (-1 - symbol)
+		}
+	}
+	return found
+}
+
+// keep are the rules that are wanted.
+func keep(rules []api.Rule, wanted func(r api.Rule) bool) []api.Rule {
+	var list []api.Rule
+	for _, r := range rules {
+		if wanted(r) {
+			list = append(list, r)
+		}
+	}
+	return list
+}
+
+// rooted are the nonterminals that have a tree: one of height h + 1 has at its root a rule all whose nonterminals have trees of height h. A least tree has no nonterminal twice on one way down, so none is higher than there are nonterminals.
+func rooted(rules []api.Rule) api.Set {
+	var found api.Set
+	for range api.MaxSymbols {
+		var higher api.Set
+		for _, r := range rules {
+			if nontermsOf(r.Right)&^found == 0 {
+				higher |= 1 << r.Left
+			}
+		}
+		found = higher
+	}
+	return found
+}
+
+// ledTo are the nonterminals to which there is a way by rules, of any length, from one of them.
+func ledTo(from int, rules []api.Rule) api.Set {
+	var leads [api.MaxSymbols]api.Set
+	for n := range leads {
+		leads[n] = 1 << n
+	}
+	for _, r := range rules {
+		leads[r.Left] |= nontermsOf(r.Right)
+	}
+	for via := range leads {
+		for n := range leads {
+			if leads[n]>>via&1 == 1 {
+				leads[n] |= leads[via]
+			}
+		}
+	}
+	return leads[from]
+}
+
+// usefulOf are the useful nonterminals, as the chapter's section 'Words' says it.
+func usefulOf(g api.Grammar) api.Set {
+	able := rooted(g.Rules)
+	if able>>g.Axiom&1 == 0 {
+		return 0
+	}
+	return able & ledTo(g.Axiom, keep(g.Rules, func(r api.Rule) bool { return nontermsOf(r.Right)&^able == 0 }))
+}
+
+// trimmed is a grammar without what is not useful: its axiom is to be. Numbers come out of the lists of those that stay.
+func trimmed(g api.Grammar) api.Grammar {
+	stay := usefulOf(g)
+	rules := keep(g.Rules, func(r api.Rule) bool { return (nontermsOf(r.Right)|1<<r.Left)&^stay == 0 })
+	var terms, nonterms []int
+	var t api.Grammar
+	for n, name := range g.Nonterms {
+		if stay>>n&1 == 1 {
+			nonterms = append(nonterms, n)
+			t.Nonterms = append(t.Nonterms, name)
+		}
+	}
+	for n, name := range g.Terms {
+		if slices.ContainsFunc(rules, func(r api.Rule) bool { return slices.Contains(r.Right, n) }) {
+			terms = append(terms, n)
+			t.Terms = append(t.Terms, name)
+		}
+	}
+	for _, r := range rules {
+		turned := probe.Rule(slices.Index(nonterms, r.Left))
+		for _, symbol := range r.Right {
+			number := slices.Index(terms, symbol)
+			if symbol < 0 {
+				number = -1 - slices.Index(nonterms, -1-symbol)
+			}
+			turned.Right = append(turned.Right, number)
+		}
+		t.Rules = append(t.Rules, turned)
+	}
+	t.Axiom = slices.Index(nonterms, g.Axiom)
+	return t
+}
+
+// derived are, for each nonterminal, all rows of at most that many tokens that it derives; each is the terminals' names, which are to be of one byte.
+func derived(g api.Grammar, most int) []map[string]bool {
+	list := make([]map[string]bool, len(g.Nonterms))
+	for n := range list {
+		list[n] = map[string]bool{}
+	}
+	for grown := true; grown; {
+		grown = false
+		for _, r := range g.Rules {
+			for row := range made(g, r.Right, list, most) {
+				grown = grown || !list[r.Left][row]
+				list[r.Left][row] = true
+			}
+		}
+	}
+	return list
+}
+
+// made are the rows of at most that many tokens that a right side makes of nonterminals' rows.
+func made(g api.Grammar, right []int, of []map[string]bool, most int) map[string]bool {
+	rows := map[string]bool{"": true}
+	for _, symbol := range right {
+		ends := map[string]bool{}
+		if symbol < 0 {
+			ends = of[-1-symbol]
+		} else {
+			ends[g.Terms[symbol]] = true
+		}
+		longer := map[string]bool{}
+		for row := range rows {
+			for end := range ends {
+				if len(row)+len(end) <= most {
+					longer[row+end] = true
+				}
+			}
+		}
+		rows = longer
+	}
+	return rows
+}
+
+// least is the first of some rows, by length and then as a list; with terminals whose names rise as their numbers do.
+func least(rows map[string]bool) (string, bool) {
+	found, ok := "", false
+	for row := range rows {
+		if !ok || len(row) < len(found) || len(row) == len(found) && row < found {
+			found, ok = row, true
+		}
+	}
+	return found, ok
+}
+
+// spelt is a row of tokens as the terminals' names.
+func spelt(g api.Grammar, row []int) string {
+	var text strings.Builder
+	for _, token := range row {
+		text.WriteString(g.Terms[token])
+	}
+	return text.String()
+}
+
+// letters are n names of one byte, which rise.
+func letters(first byte, n int) []string {
+	var list []string
+	for k := range n {
+		list = append(list, string([]byte{first + byte(k)}))
+	}
+	return list
+}
+
+// mixed is a grammar that may be, with rules of up to four symbols; some nonterminals are productive, some reached, some neither.
+func mixed(n *probe.Numbers) api.Grammar {
+	g := api.Grammar{Terms: letters('a', 1+n.Below(4)), Nonterms: letters('A', 1+n.Below(6))}
+	g.Axiom = n.Below(len(g.Nonterms))
+	for range n.Below(12) {
+		r := probe.Rule(n.Below(len(g.Nonterms)))
+		for range n.Below(5) {
+			symbol := n.Below(len(g.Terms))
+			if n.Below(5) < 3 {
+				symbol = -1 - n.Below(len(g.Nonterms))
+			}
+			r.Right = append(r.Right, symbol)
+		}
+		g.Rules = append(g.Rules, r)
+	}
+	return g
+}
+
+func manyGrammars() []api.Grammar {
+	var list []api.Grammar
+	var n probe.Numbers
+	for range 4000 {
+		list = append(list, mixed(&n))
+	}
+	return list
+}
+
+// smallGrammars are all of up to three rules of up to two symbols, over two nonterminals and the terminals a and b (of three rules: a alone), whatever the order of rules.
+func smallGrammars() []api.Grammar {
+	var list []api.Grammar
+	for axiom := range 2 {
+		g := api.Grammar{Terms: letters('a', 2), Nonterms: letters('A', 2), Axiom: axiom}
+		list = append(list, withRules(g, 2, rulesOf(probe.Sides(2, -2, -1, 0, 1)))...)
+		g.Terms = letters('a', 1)
+		list = append(list, withRules(g, 3, rulesOf(probe.Sides(2, -2, -1, 0)))...)
+	}
+	return list
+}
+
+func rulesOf(sides [][]int) []api.Rule {
+	var list []api.Rule
+	for _, side := range sides {
+		list = append(list, probe.Rule(0, side...), probe.Rule(1, side...))
+	}
+	return list
+}
+
+// withRules are a grammar and its forms with up to that many rules more, of those, in their order; one may be taken again.
+func withRules(g api.Grammar, most int, rules []api.Rule) []api.Grammar {
+	list := []api.Grammar{g}
+	for n, r := range rules {
+		if most == 0 {
+			break
+		}
+		more := g
+		more.Rules = append(slices.Clone(g.Rules), r)
+		list = append(list, withRules(more, most-1, rules[n:])...)
+	}
+	return list
+}
+
+// tall is a grammar whose nonterminals are made of those behind them, mostly two or three at a time, so that rows may be of any length, up to too long ones; renamings go back and forth, and some nonterminals derive no tokens.
+func tall(n *probe.Numbers) api.Grammar {
+	g := api.Grammar{Terms: letters('a', 3), Nonterms: letters('A', 8+n.Below(24))}
+	last := len(g.Nonterms) - 1
+	for left := range g.Nonterms {
+		for range 1 + n.Below(4)/3 {
+			r := probe.Rule(left)
+			for range 1 + (n.Below(7)+2)/3 {
+				symbol := -1 - min(left+1+n.Below(5)/4, last)
+				if left == last || n.Below(15) == 0 {
+					symbol = n.Below(len(g.Terms))
+				}
+				r.Right = append(r.Right, symbol)
+			}
+			g.Rules = append(g.Rules, r)
+		}
+		if n.Below(2) == 0 {
+			g.Rules = append(g.Rules, probe.Rule(left, -1-n.Below(left+1)))
+		}
+		switch n.Below(60) {
+		case 0:
+			g.Rules = append(g.Rules, probe.Rule(left))
+		case 1:
+			g.Rules = slices.DeleteFunc(g.Rules, func(r api.Rule) bool { return r.Left == left })
+		}
+	}
+	return g
+}
+
+func tallGrammars() []api.Grammar {
+	var list []api.Grammar
+	var n probe.Numbers
+	for range 300 {
+		list = append(list, tall(&n))
+	}
+	return list
+}

@@ -271,19 +271,10 @@ func byNames(g api.Grammar) []string {
 	return list
 }
 
-func order(size int, n *probe.Numbers) []int {
-	list := make([]int, size)
-	for i := range list {
-		k := n.Below(i + 1)
-		list[i], list[k] = list[k], i
-	}
-	return list
-}
-
 func TestBuilderToldWithOtherNumbers(t *testing.T) {
 	var n probe.Numbers
 	for _, g := range manyGrammars() {
-		terms, nonterms := order(len(g.Terms), &n), order(len(g.Nonterms), &n)
+		terms, nonterms := n.Order(len(g.Terms)), n.Order(len(g.Nonterms))
 		told := telling(t, g, terms, nonterms)
 		for k, from := range terms {
 			if told.Terms[k] != g.Terms[from] {

@@ -7,7 +7,17 @@ import (
 
 	"dovetail/api"
 	"dovetail/gram"
+	"dovetail/spec"
 )
+
+// Read is the grammar of a text whose lines are parted by ; here.
+func Read(text string) api.Grammar {
+	g, err := spec.Read(strings.ReplaceAll(text, ";", "\n"))
+	if err != nil {
+		panic(text + ": " + err.Error())
+	}
+	return g
+}
 
 // Rule is a rule of that Left and those symbols.
 func Rule(left int, right ...int) api.Rule { return api.Rule{Left: left, Right: right} }
@@ -23,6 +33,31 @@ func Sides(most int, symbols ...int) [][]int {
 				list = append(list, append(slices.Clone(side), symbol))
 			}
 		}
+	}
+	return list
+}
+
+// RulesOf are rules with each of those right sides, for each of so many nonterminals as Left.
+func RulesOf(nonterms int, sides ...[]int) []api.Rule {
+	var list []api.Rule
+	for _, side := range sides {
+		for left := range nonterms {
+			list = append(list, Rule(left, side...))
+		}
+	}
+	return list
+}
+
+// WithRules are a grammar and its forms with up to that many rules more, of those, in their order; one may be taken again.
+func WithRules(g api.Grammar, most int, rules []api.Rule) []api.Grammar {
+	list := []api.Grammar{g}
+	for n, r := range rules {
+		if most == 0 {
+			break
+		}
+		more := g
+		more.Rules = append(slices.Clone(g.Rules), r)
+		list = append(list, WithRules(more, most-1, rules[n:])...)
 	}
 	return list
 }

@@ -74,11 +74,30 @@ func (n *Numbers) Below(bound int) int {
 	return int((uint64(*n) >> 33) % uint64(bound))
 }
 
+// Order is the numbers below a size, each once, in an order that looks mixed.
+func (n *Numbers) Order(size int) []int {
+	list := make([]int, size)
+	for i := range list {
+		k := n.Below(i + 1)
+		list[i], list[k] = list[k], i
+	}
+	return list
+}
+
 // Names are n names with that beginning, no two the same.
 func Names(prefix string, n int) []string {
 	list := make([]string, n)
 	for i := range list {
 		list[i] = prefix + strconv.Itoa(i)
+	}
+	return list
+}
+
+// Letters are n names of one byte, which rise from the first on.
+func Letters(first byte, n int) []string {
+	list := make([]string, n)
+	for k := range list {
+		list[k] = string([]byte{first + byte(k)})
 	}
 	return list
 }

@@ -64,9 +64,68 @@ func TestNumbersComeAgain(t *testing.T) {
 	}
 }
 
+func TestOrder(t *testing.T) {
+	var first, second probe.Numbers
+	mixed := 0
+	for size := range 40 {
+		order := first.Order(size)
+		if !slices.Equal(order, second.Order(size)) {
+			t.Errorf("%v doesn't come again", order)
+		}
+		if !slices.IsSorted(order) {
+			mixed++
+		}
+		slices.Sort(order)
+		for n, k := range order {
+			if n != k || len(order) != size {
+				t.Fatalf("the numbers below %d: %v", size, order)
+			}
+		}
+	}
+	if mixed < 30 {
+		t.Errorf("only %d orders are mixed", mixed)
+	}
+}
+
 func TestNames(t *testing.T) {
 	if got := probe.Names("n", 3); !slices.Equal(got, []string{"n0", "n1", "n2"}) {
 		t.Errorf("Names: %q", got)
+	}
+}
+
+func TestLetters(t *testing.T) {
+	if got := probe.Letters('b', 3); !slices.Equal(got, []string{"b", "c", "d"}) || len(probe.Letters('a', 0)) != 0 {
+		t.Errorf("Letters: %q", got)
+	}
+}
+
+func TestRead(t *testing.T) {
+	want := api.Grammar{Terms: []string{"a", "b"}, Nonterms: []string{"S", "T"}, Rules: []api.Rule{probe.Rule(0, 0, -2), probe.Rule(1, 1), probe.Rule(1)}}
+	if got := probe.Read("S : a T; T : b |"); !gram.Same(got, want) {
+		t.Errorf("Read: %v", got)
+	}
+	defer func() {
+		if recover() == nil {
+			t.Error("a wrong text is read")
+		}
+	}()
+	probe.Read("S")
+}
+
+func TestWithRules(t *testing.T) {
+	rules := probe.RulesOf(2, nil, []int{-1})
+	if want := []api.Rule{probe.Rule(0), probe.Rule(1), probe.Rule(0, -1), probe.Rule(1, -1)}; !gram.Same(api.Grammar{Rules: rules}, api.Grammar{Rules: want}) {
+		t.Fatalf("RulesOf: %v", rules)
+	}
+	g := api.Grammar{Nonterms: []string{"S", "T"}}
+	forms := probe.WithRules(g, 2, rules)
+	if len(forms) != 1+4+10 || !gram.Same(forms[0], g) {
+		t.Errorf("%d forms of %v", len(forms), forms[0])
+	}
+	for n, form := range forms {
+		if len(form.Rules) > 2 || slices.ContainsFunc(forms[:n], func(f api.Grammar) bool { return gram.Same(f, form) }) {
+			t.Errorf("form %d: %v", n, form.Rules)
+		}
 	}
 }
 

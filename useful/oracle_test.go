@@ -6,17 +6,7 @@ import (
 
 	"dovetail/api"
 	"dovetail/probe"
-	"dovetail/spec"
 )
-
-// read is the grammar of a text; its lines are parted by ; here.
-func read(text string) api.Grammar {
-	g, err := spec.Read(strings.ReplaceAll(text, ";", "\n"))
-	if err != nil {
-		panic(text + ": " + err.Error())
-	}
-	return g
-}
 
 // nontermsOf are the nonterminals of a right side.
 func nontermsOf(right []int) api.Set {
@@ -177,18 +167,9 @@ func spelt(g api.Grammar, row []int) string {
 	return text.String()
 }
 
-// letters are n names of one byte, which rise.
-func letters(first byte, n int) []string {
-	var list []string
-	for k := range n {
-		list = append(list, string([]byte{first + byte(k)}))
-	}
-	return list
-}
-
 // mixed is a grammar that may be, with rules of up to four symbols; some nonterminals are productive, some reached, some neither.
 func mixed(n *probe.Numbers) api.Grammar {
-	g := api.Grammar{Terms: letters('a', 1+n.Below(4)), Nonterms: letters('A', 1+n.Below(6))}
+	g := api.Grammar{Terms: probe.Letters('a', 1+n.Below(4)), Nonterms: probe.Letters('A', 1+n.Below(6))}
 	g.Axiom = n.Below(len(g.Nonterms))
 	for range n.Below(12) {
 		r := probe.Rule(n.Below(len(g.Nonterms)))
@@ -217,39 +198,17 @@ func manyGrammars() []api.Grammar {
 func smallGrammars() []api.Grammar {
 	var list []api.Grammar
 	for axiom := range 2 {
-		g := api.Grammar{Terms: letters('a', 2), Nonterms: letters('A', 2), Axiom: axiom}
-		list = append(list, withRules(g, 2, rulesOf(probe.Sides(2, -2, -1, 0, 1)))...)
-		g.Terms = letters('a', 1)
-		list = append(list, withRules(g, 3, rulesOf(probe.Sides(2, -2, -1, 0)))...)
-	}
-	return list
-}
-
-func rulesOf(sides [][]int) []api.Rule {
-	var list []api.Rule
-	for _, side := range sides {
-		list = append(list, probe.Rule(0, side...), probe.Rule(1, side...))
-	}
-	return list
-}
-
-// withRules are a grammar and its forms with up to that many rules more, of those, in their order; one may be taken again.
-func withRules(g api.Grammar, most int, rules []api.Rule) []api.Grammar {
-	list := []api.Grammar{g}
-	for n, r := range rules {
-		if most == 0 {
-			break
-		}
-		more := g
-		more.Rules = append(slices.Clone(g.Rules), r)
-		list = append(list, withRules(more, most-1, rules[n:])...)
+		g := api.Grammar{Terms: probe.Letters('a', 2), Nonterms: probe.Letters('A', 2), Axiom: axiom}
+		list = append(list, probe.WithRules(g, 2, probe.RulesOf(2, probe.Sides(2, -2, -1, 0, 1)...))...)
+		g.Terms = probe.Letters('a', 1)
+		list = append(list, probe.WithRules(g, 3, probe.RulesOf(2, probe.Sides(2, -2, -1, 0)...))...)
 	}
 	return list
 }
 
 // tall is a grammar whose nonterminals are made of those behind them, mostly two or three at a time, so that rows may be of any length, up to too long ones; renamings go back and forth, and some nonterminals derive no tokens.
 func tall(n *probe.Numbers) api.Grammar {
-	g := api.Grammar{Terms: letters('a', 3), Nonterms: letters('A', 8+n.Below(24))}
+	g := api.Grammar{Terms: probe.Letters('a', 3), Nonterms: probe.Letters('A', 8+n.Below(24))}
 	last := len(g.Nonterms) - 1
 	for left := range g.Nonterms {
 		for range 1 + n.Below(4)/3 {

@@ -41,7 +41,7 @@ func checkNoWord(t *testing.T, g api.Grammar, n int, want error) {
 
 // ranked is the grammar of a text with its terminals in the order of their names.
 func ranked(text string) api.Grammar {
-	g := read(text)
+	g := probe.Read(text)
 	names := slices.Sorted(slices.Values(g.Terms))
 	for _, r := range g.Rules {
 		for at, symbol := range r.Right {
@@ -102,7 +102,7 @@ func TestShortest(t *testing.T) {
 		{"S : a a a a a; A : S | B a a; B : A | a", []int{5, 3, 1}},
 	}
 	for _, c := range cases {
-		checkShortest(t, read(c.text), c.want...)
+		checkShortest(t, probe.Read(c.text), c.want...)
 	}
 	checkShortest(t, api.Grammar{Nonterms: []string{"S", "A"}}, -1, -1)
 	checkShortest(t, api.Grammar{Nonterms: []string{"S", "A"}, Rules: []api.Rule{probe.Rule(1), probe.Rule(1, -1)}}, -1, 0)
@@ -227,8 +227,8 @@ func TestWord(t *testing.T) {
 
 // The least row is told by terminals' numbers, not by their names.
 func TestWordGoesByNumbers(t *testing.T) {
-	checkWord(t, read("S : z | a"), 0, "z")
-	checkWord(t, read("S : z y x | z x y | z z z"), 0, "zzz")
+	checkWord(t, probe.Read("S : z | a"), 0, "z")
+	checkWord(t, probe.Read("S : z y x | z x y | z z z"), 0, "zzz")
 	g := api.Grammar{Terms: probe.Names("t", 59), Nonterms: []string{"S"}}
 	for n := range g.Terms {
 		g.Rules = append(g.Rules, probe.Rule(0, 58-n, 10), probe.Rule(0, 58-n, 9))
@@ -237,7 +237,7 @@ func TestWordGoesByNumbers(t *testing.T) {
 }
 
 func TestWordOfNoNonterminal(t *testing.T) {
-	for _, g := range []api.Grammar{example(), read("S : S; A : A; B : B; C : C"), doubled(4), {Nonterms: probe.Names("N", 4)}} {
+	for _, g := range []api.Grammar{example(), probe.Read("S : S; A : A; B : B; C : C"), doubled(4), {Nonterms: probe.Names("N", 4)}} {
 		for _, n := range []int{-1, -2, 4, 5, 60, 63, 64, math.MinInt, math.MaxInt} {
 			checkNoWord(t, g, n, api.ErrArg)
 		}

@@ -14,7 +14,7 @@ import (
 )
 
 // example is the grammar of the chapter's examples.
-func example() api.Grammar { return read("S : a A | B | b; A : a; B : B b; C : a") }
+func example() api.Grammar { return probe.Read("S : a A | B | b; A : a; B : B b; C : a") }
 
 // named is a set of nonterminals as their names.
 func named(g api.Grammar, s api.Set) string {
@@ -71,16 +71,16 @@ func TestSets(t *testing.T) {
 		{"S : C A; A : C; B : A; C : a | B", "S A B C", "S A B C", "S A B C"},
 	}
 	for _, c := range cases {
-		checkSets(t, read(c.text), c.productive, c.reached, c.useful)
+		checkSets(t, probe.Read(c.text), c.productive, c.reached, c.useful)
 	}
 }
 
 // A nonterminal that stands only beside one that isn't productive is productive and reached, and not useful; by another rule, it is.
 func TestUsefulByRulesOfProductiveOnes(t *testing.T) {
-	checkSets(t, read("S : A B | a; A : a; B : B"), "S A", "S A B", "S")
-	checkSets(t, read("S : A B | a; A : C; B : B; C : c"), "S A C", "S A B C", "S")
-	checkSets(t, read("S : A B | a C; A : a; B : B; C : b A"), "S A C", "S A B C", "S A C")
-	checkSets(t, read("S : B | a; A : a; B : B A | C B; C : c"), "S A C", "S A B C", "S")
+	checkSets(t, probe.Read("S : A B | a; A : a; B : B"), "S A", "S A B", "S")
+	checkSets(t, probe.Read("S : A B | a; A : C; B : B; C : c"), "S A C", "S A B C", "S")
+	checkSets(t, probe.Read("S : A B | a C; A : a; B : B; C : b A"), "S A C", "S A B C", "S A C")
+	checkSets(t, probe.Read("S : B | a; A : a; B : B A | C B; C : c"), "S A C", "S A B C", "S")
 }
 
 func TestSetsFromTheAxiom(t *testing.T) {
@@ -148,7 +148,7 @@ func TestSetsOfManyGrammars(t *testing.T) {
 
 // TestWrongGrammars: each call tells gram's error ahead of its own, and nothing else.
 func TestWrongGrammars(t *testing.T) {
-	for _, w := range append(probe.Wrongs(example()), probe.Wrongs(read("S : S"))...) {
+	for _, w := range append(probe.Wrongs(example()), probe.Wrongs(probe.Read("S : S"))...) {
 		want := gram.Check(w.Grammar)
 		check := func(call string, err error, zero bool) {
 			if probe.Which(err) != probe.Which(want) || probe.RuleOf(err) != probe.RuleOf(want) || want == nil {
@@ -188,7 +188,7 @@ func TestTrim(t *testing.T) {
 		{"S : C | B; A : a S; B : b B; C : c | C c", "S : C; C : c | C c"},
 	}
 	for _, c := range cases {
-		checkTrim(t, read(c.text), read(c.want))
+		checkTrim(t, probe.Read(c.text), probe.Read(c.want))
 	}
 }
 
@@ -213,8 +213,8 @@ func TestTrimOfOneNameOnBothSides(t *testing.T) {
 }
 
 func TestTrimOfNothing(t *testing.T) {
-	checkNoTrim(t, read("S : S"))
-	checkNoTrim(t, read("S : A B; A : a; B : B b"))
+	checkNoTrim(t, probe.Read("S : S"))
+	checkNoTrim(t, probe.Read("S : A B; A : a; B : B b"))
 	checkNoTrim(t, api.Grammar{Terms: []string{"a"}, Nonterms: []string{"S", "A"}, Rules: []api.Rule{probe.Rule(1, 0)}})
 	g := example()
 	g.Axiom = 2
@@ -323,13 +323,13 @@ func TestNothingIsChanged(t *testing.T) {
 
 // TestNothingIsKept: a later change of what was handed in is seen by the next call, and not in what was answered.
 func TestNothingIsKept(t *testing.T) {
-	g := read("S : a A | b; A : c; B : a")
+	g := probe.Read("S : a A | b; A : c; B : a")
 	trimmed, _ := useful.Trim(g)
 	lengths, _ := useful.Shortest(g)
 	word, _ := useful.Word(g, 1)
 	g.Terms[2], g.Nonterms[1] = "d", "C"
 	g.Rules[0].Right[0], g.Rules[1].Right[0], g.Rules[2].Right[0] = 2, -2, 1
-	if !gram.Same(trimmed, read("S : a A | b; A : c")) || !slices.Equal(lengths, []int{1, 1, 1}) || !slices.Equal(word, []int{2}) {
+	if !gram.Same(trimmed, probe.Read("S : a A | b; A : c")) || !slices.Equal(lengths, []int{1, 1, 1}) || !slices.Equal(word, []int{2}) {
 		t.Errorf("the answers became %v, %v, %v", trimmed, lengths, word)
 	}
 	want := gram.Copy(g)
@@ -403,11 +403,11 @@ func TestExamples(t *testing.T) {
 	checkNoWord(t, example(), 2, api.ErrNone)
 	checkWord(t, example(), 3, "a")
 	checkNoWord(t, example(), 4, api.ErrArg)
-	checkTrim(t, example(), read("S : a A | b; A : a"))
-	checkNoTrim(t, read("S : S"))
+	checkTrim(t, example(), probe.Read("S : a A | b; A : a"))
+	checkNoTrim(t, probe.Read("S : S"))
 	ab := api.Grammar{Terms: []string{"a", "b"}, Nonterms: []string{"S"}, Rules: []api.Rule{probe.Rule(0, -1, -1), probe.Rule(0, 1), probe.Rule(0, 0)}}
 	checkWord(t, ab, 0, "a")
-	checkWord(t, read("S : | a"), 0, "")
+	checkWord(t, probe.Read("S : | a"), 0, "")
 	g := doubled(17)
 	lengths, err := useful.Shortest(g)
 	if err != nil || len(lengths) != 17 || lengths[0] != 65536 || lengths[1] != 32768 || lengths[16] != 1 {

@@ -316,7 +316,7 @@ func TestChainOfManyWays(t *testing.T) {
 // checkByTrying holds all chains of a grammar on the left against those that are found by trying all lists of rules.
 func checkByTrying(t *testing.T, g api.Grammar) {
 	t.Helper()
-	about := turned(g)
+	about := probe.Turned(g)
 	for n := range g.Nonterms {
 	terms:
 		for term := range g.Terms {
@@ -354,7 +354,7 @@ func TestChainsOfManyGrammars(t *testing.T) {
 func TestTurnedAbout(t *testing.T) {
 	unlike := 0
 	for _, g := range slices.Concat(manyGrammars(), smallGrammars(), wideGrammars()) {
-		e, other := mustOf(t, g), mustOf(t, turned(g))
+		e, other := mustOf(t, g), mustOf(t, probe.Turned(g))
 		if !same(e, ends.Ends{Left: other.Right, Right: other.Left}) {
 			t.Errorf("Of %v: %v, turned about: %v", g.Rules, e, other)
 		}
@@ -370,11 +370,7 @@ func TestTurnedAbout(t *testing.T) {
 func TestRulesInAnotherOrder(t *testing.T) {
 	var n probe.Numbers
 	for _, g := range append(manyGrammars(), wideGrammars()...) {
-		other := g
-		other.Rules = nil
-		for _, k := range n.Order(len(g.Rules)) {
-			other.Rules = append(other.Rules, g.Rules[k])
-		}
+		other := probe.Shuffled(g, &n)
 		if e, of := mustOf(t, g), mustOf(t, other); !same(e, of) {
 			t.Errorf("Of %v: %v, of %v: %v", g.Rules, e, other.Rules, of)
 		}
@@ -386,9 +382,7 @@ func TestRulesInAnotherOrder(t *testing.T) {
 func TestWithARuleMore(t *testing.T) {
 	more := 0
 	for _, g := range append(manyGrammars(), wideGrammars()...) {
-		for n := range g.Rules {
-			less := g
-			less.Rules = slices.Delete(slices.Clone(g.Rules), n, n+1)
+		for n, less := range probe.Lessened(g) {
 			e, before := mustOf(t, g), mustOf(t, less)
 			for m := range g.Nonterms {
 				if !sets.Within(before.Left[m], e.Left[m]) || !sets.Within(before.Right[m], e.Right[m]) {
@@ -408,7 +402,7 @@ func TestWithARuleMore(t *testing.T) {
 // checkByLengths holds all chains of a grammar, and whether there are any, against how many rules the shortest ones have; and counts how many have so many.
 func checkByLengths(t *testing.T, g api.Grammar, seen []int) {
 	t.Helper()
-	about := turned(g)
+	about := probe.Turned(g)
 	e, other := mustOf(t, g), mustOf(t, about)
 	for term := range g.Terms {
 		least := lengths(g, term)

@@ -5,18 +5,8 @@ import (
 
 	"dovetail/api"
 	"dovetail/ends"
-	"dovetail/gram"
 	"dovetail/probe"
 )
-
-// turned is a grammar whose right sides are turned about.
-func turned(g api.Grammar) api.Grammar {
-	g = gram.Copy(g)
-	for _, r := range g.Rules {
-		slices.Reverse(r.Right)
-	}
-	return g
-}
 
 // showing tells whether a rule shows the terminal on the left, as the chapter's section 'Words' says it.
 func showing(r api.Rule, term int) bool {
@@ -61,7 +51,9 @@ func leftOf(g api.Grammar) []api.Set {
 	return left
 }
 
-func endsOf(g api.Grammar) ends.Ends { return ends.Ends{Left: leftOf(g), Right: leftOf(turned(g))} }
+func endsOf(g api.Grammar) ends.Ends {
+	return ends.Ends{Left: leftOf(g), Right: leftOf(probe.Turned(g))}
+}
 
 // isChain tells whether rules are a chain on the left, as the chapter's section 'Words' says it.
 func isChain(g api.Grammar, nonterm, term int, chain []int) bool {

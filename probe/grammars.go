@@ -95,3 +95,33 @@ func Wrongs(g api.Grammar) []Wrong {
 	add("33 symbols", func(g *api.Grammar) { g.Rules = append(g.Rules, Rule(0, slices.Repeat([]int{-1}, api.MaxRight+1)...)) })
 	return list
 }
+
+// Turned is a grammar in new memory whose right sides are turned about.
+func Turned(g api.Grammar) api.Grammar {
+	g = gram.Copy(g)
+	for _, r := range g.Rules {
+		slices.Reverse(r.Right)
+	}
+	return g
+}
+
+// Shuffled is a grammar with its rules in an order that looks mixed.
+func Shuffled(g api.Grammar, n *Numbers) api.Grammar {
+	rules := g.Rules
+	g.Rules = nil
+	for _, k := range n.Order(len(rules)) {
+		g.Rules = append(g.Rules, rules[k])
+	}
+	return g
+}
+
+// Lessened are a grammar's forms with a rule less, one for each rule.
+func Lessened(g api.Grammar) []api.Grammar {
+	var list []api.Grammar
+	for n := range g.Rules {
+		less := g
+		less.Rules = slices.Delete(slices.Clone(g.Rules), n, n+1)
+		list = append(list, less)
+	}
+	return list
+}

@@ -129,6 +129,48 @@ func TestWithRules(t *testing.T) {
 	}
 }
 
+func TestTurned(t *testing.T) {
+	g := nest()
+	g.Rules = append(g.Rules, probe.Rule(0, 1, -1))
+	turned := probe.Turned(g)
+	want := nest()
+	want.Rules = []api.Rule{probe.Rule(0, 1, -1, 0), probe.Rule(0), probe.Rule(0, -1, 1)}
+	if !gram.Same(turned, want) || !gram.Same(probe.Turned(turned), g) || !probe.GrammarsApart(g, turned) {
+		t.Errorf("Turned: %v", turned)
+	}
+}
+
+func TestShuffled(t *testing.T) {
+	g := nest()
+	g.Rules = probe.RulesOf(1, probe.Sides(4, -1, 0)...)
+	var n probe.Numbers
+	other := probe.Shuffled(g, &n)
+	if gram.Same(g, other) || gram.Same(probe.Shuffled(g, &n), other) {
+		t.Errorf("Shuffled: %v", other)
+	}
+	slices.SortStableFunc(other.Rules, func(a, b api.Rule) int { return slices.Compare(a.Right, b.Right) })
+	slices.SortStableFunc(g.Rules, func(a, b api.Rule) int { return slices.Compare(a.Right, b.Right) })
+	if !gram.Same(g, other) {
+		t.Errorf("Shuffled has other rules: %v", other)
+	}
+}
+
+func TestLessened(t *testing.T) {
+	g := nest()
+	g.Rules = append(g.Rules, probe.Rule(0, 1))
+	forms := probe.Lessened(g)
+	if len(forms) != 3 || len(g.Rules) != 3 || len(probe.Lessened(api.Grammar{})) != 0 {
+		t.Fatalf("Lessened: %v", forms)
+	}
+	for n, form := range forms {
+		want := nest()
+		want.Rules = append(slices.Clone(g.Rules[:n]), g.Rules[n+1:]...)
+		if !gram.Same(form, want) {
+			t.Errorf("without rule %d: %v", n, form)
+		}
+	}
+}
+
 func TestSides(t *testing.T) {
 	want := [][]int{nil, {-1}, {4}, {-1, -1}, {-1, 4}, {4, -1}, {4, 4}}
 	if got := probe.Sides(2, -1, 4); !slices.EqualFunc(got, want, slices.Equal[[]int]) {

@@ -3,6 +3,7 @@ package probe_test
 import (
 	"errors"
 	"slices"
+	"strings"
 	"testing"
 
 	"dovetail/api"
@@ -255,5 +256,29 @@ func TestGrammarsApart(t *testing.T) {
 	other.Rules = rules.Rules[1:]
 	if probe.GrammarsApart(names) || probe.GrammarsApart(rules, other) || probe.GrammarsApart(sides) {
 		t.Error("lists that share memory are told apart")
+	}
+}
+
+func TestDerived(t *testing.T) {
+	cases := []struct {
+		text string
+		want []string
+	}{
+		{"S : a S b | a b", []string{"ab aabb"}},
+		{"S : S S | a", []string{"a aa aaa aaaa aaaaa"}},
+		{"S : A b A; A : a A |", []string{"b ab ba aba aab baa aaba abaa aaab baaa aabaa aaaba abaaa aaaab baaaa", " a aa aaa aaaa aaaaa"}},
+		{"S : A; A : S; B : a b a b a b | a", []string{"-", "-", "a"}},
+		{"S : S a S; A :", []string{"-", ""}},
+	}
+	for _, c := range cases {
+		for n, rows := range probe.Derived(probe.Read(c.text), 5) {
+			want := strings.Split(c.want[n], " ")
+			if c.want[n] == "-" {
+				want = nil
+			}
+			if len(rows) != len(want) || slices.ContainsFunc(want, func(row string) bool { return !rows.Has(row) }) {
+				t.Errorf("%s, nonterminal %d: %v, want %q", c.text, n, rows, want)
+			}
+		}
 	}
 }

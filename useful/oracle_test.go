@@ -106,49 +106,8 @@ func trimmed(g api.Grammar) api.Grammar {
 	return t
 }
 
-// derived are, for each nonterminal, all rows of at most that many tokens that it derives; each is the terminals' names, which are to be of one byte.
-func derived(g api.Grammar, most int) []map[string]bool {
-	list := make([]map[string]bool, len(g.Nonterms))
-	for n := range list {
-		list[n] = map[string]bool{}
-	}
-	for grown := true; grown; {
-		grown = false
-		for _, r := range g.Rules {
-			for row := range made(g, r.Right, list, most) {
-				grown = grown || !list[r.Left][row]
-				list[r.Left][row] = true
-			}
-		}
-	}
-	return list
-}
-
-// made are the rows of at most that many tokens that a right side makes of nonterminals' rows.
-func made(g api.Grammar, right []int, of []map[string]bool, most int) map[string]bool {
-	rows := map[string]bool{"": true}
-	for _, symbol := range right {
-		ends := map[string]bool{}
-		if symbol < 0 {
-			ends = of[-1-symbol]
-		} else {
-			ends[g.Terms[symbol]] = true
-		}
-		longer := map[string]bool{}
-		for row := range rows {
-			for end := range ends {
-				if len(row)+len(end) <= most {
-					longer[row+end] = true
-				}
-			}
-		}
-		rows = longer
-	}
-	return rows
-}
-
 // least is the first of some rows, by length and then as a list; with terminals whose names rise as their numbers do.
-func least(rows map[string]bool) (string, bool) {
+func least(rows probe.Rows) (string, bool) {
 	found, ok := "", false
 	for row := range rows {
 		if !ok || len(row) < len(found) || len(row) == len(found) && row < found {

@@ -254,7 +254,7 @@ func checkByRows(t *testing.T, g api.Grammar, most int) {
 	if err != nil || len(lengths) != len(g.Nonterms) {
 		t.Fatalf("Shortest of %v: %v, %v", g.Rules, lengths, err)
 	}
-	for n, rows := range derived(g, most) {
+	for n, rows := range probe.Derived(g, most) {
 		row, ok := least(rows)
 		switch {
 		case ok:

@@ -286,12 +286,12 @@ func TestTrimmedDerivesTheSame(t *testing.T) {
 		if err != nil || n%2 == 1 {
 			continue
 		}
-		was, is := derived(g, 4)[g.Axiom], derived(once, 4)[once.Axiom]
+		was, is := probe.Derived(g, 4)[g.Axiom], probe.Derived(once, 4)[once.Axiom]
 		if len(was) != len(is) {
 			t.Errorf("%v derives %d rows, %v derives %d", g, len(was), once, len(is))
 		}
 		for row := range is {
-			if !was[row] {
+			if !was.Has(row) {
 				t.Errorf("%v derives %q, %v doesn't", once, row, g)
 			}
 		}

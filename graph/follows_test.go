@@ -223,7 +223,7 @@ func TestAnswersAreApart(t *testing.T) {
 	var numbers probe.Numbers
 	for _, m := range graphs() {
 		// A list that is in order already is a new one, too.
-		for _, from := range [][]int{upTo(m.n), numbers.Order(m.n), {}} {
+		for _, from := range [][]int{probe.UpTo(m.n), numbers.Order(m.n), {}} {
 			a, b := ask(m.n, m.edges, from...), ask(m.n, m.edges, from...)
 			if !probe.Apart(slices.Concat(a.lists(), b.lists(), [][]int{from})...) || !probe.Apart(a.parts, b.parts) {
 				t.Fatalf("%v: lists of %v, of %v and of what is handed in share memory", m.edges, a, b)

@@ -94,15 +94,6 @@ func ring(nodes ...int) edges {
 	return append(line(nodes...), [2]int{nodes[len(nodes)-1], nodes[0]})
 }
 
-// upTo are the numbers below n.
-func upTo(n int) []int {
-	list := make([]int, n)
-	for k := range list {
-		list[k] = k
-	}
-	return list
-}
-
 // alone are the parts of one node each.
 func alone(n int) [][]int {
 	list := make([][]int, n)
@@ -114,7 +105,7 @@ func alone(n int) [][]int {
 
 // downFrom are the numbers from n on down to 0.
 func downFrom(n int) []int {
-	list := upTo(n + 1)
+	list := probe.UpTo(n + 1)
 	slices.Reverse(list)
 	return list
 }
@@ -190,7 +181,7 @@ func TestMostThatThereMayBe(t *testing.T) {
 	one := slices.Repeat(edges{{255, 0}}, graph.MaxEdges)
 	checkParts(t, 256, one, alone(256)...)
 	checkLevels(t, 256, one, append(make([]int, 255), 1)...)
-	checkOrder(t, 256, one, append(upTo(256)[1:], 0)...)
+	checkOrder(t, 256, one, append(probe.UpTo(256)[1:], 0)...)
 	checkReach(t, 256, one, []int{255}, 0, 255)
 	checkReach(t, 256, one, []int{0}, 0)
 }
@@ -215,7 +206,7 @@ func TestParts(t *testing.T) {
 		{5, edges{{4, 2}, {2, 0}, {0, 4}, {1, 3}}, [][]int{{0, 2, 4}, {1}, {3}}},
 		{5, slices.Concat(ring(0, 4), ring(4, 2), ring(2, 3)), [][]int{{0, 2, 3, 4}, {1}}},
 		{6, slices.Concat(ring(5, 3, 1), ring(4, 2, 0), edges{{1, 4}}), [][]int{{0, 2, 4}, {1, 3, 5}}},
-		{6, slices.Concat(ring(5, 3, 1), ring(4, 2, 0), edges{{1, 4}, {0, 3}}), [][]int{upTo(6)}},
+		{6, slices.Concat(ring(5, 3, 1), ring(4, 2, 0), edges{{1, 4}, {0, 3}}), [][]int{probe.UpTo(6)}},
 	}
 	for _, c := range cases {
 		checkParts(t, c.n, c.list, c.want...)
@@ -290,8 +281,8 @@ func TestOrder(t *testing.T) {
 	}{
 		{0, nil, nil},
 		{1, nil, []int{0}},
-		{4, nil, upTo(4)},
-		{4, line(0, 1, 2, 3), upTo(4)},
+		{4, nil, probe.UpTo(4)},
+		{4, line(0, 1, 2, 3), probe.UpTo(4)},
 		{4, line(3, 2, 1, 0), downFrom(3)},
 		{3, edges{{2, 0}}, []int{1, 2, 0}},
 		{4, edges{{3, 0}, {2, 0}}, []int{1, 2, 3, 0}},
@@ -325,13 +316,13 @@ func TestReach(t *testing.T) {
 		{[]int{6, 2, 4}, []int{1, 2, 4, 6}},
 		{[]int{4, 4, 4}, []int{4}},
 		{[]int{2, 0, 2, 0}, []int{0, 1, 2}},
-		{[]int{6, 5, 4, 3, 2, 1, 0}, upTo(7)},
+		{[]int{6, 5, 4, 3, 2, 1, 0}, probe.UpTo(7)},
 	}
 	for _, c := range cases {
 		checkReach(t, 7, list, c.from, c.want...)
 	}
 	checkReach(t, 0, nil, nil)
-	checkReach(t, 256, nil, slices.Repeat(upTo(256), 400), upTo(256)...)
+	checkReach(t, 256, nil, slices.Repeat(probe.UpTo(256), 400), probe.UpTo(256)...)
 }
 
 // All four against the chapter's words
@@ -430,19 +421,19 @@ func TestModels(t *testing.T) {
 // Many nodes, many ways
 
 func TestLongWays(t *testing.T) {
-	up, down := line(upTo(256)...), line(downFrom(255)...)
+	up, down := line(probe.UpTo(256)...), line(downFrom(255)...)
 	checkLevels(t, 256, up, downFrom(255)...)
-	checkLevels(t, 256, down, upTo(256)...)
-	checkOrder(t, 256, up, upTo(256)...)
+	checkLevels(t, 256, down, probe.UpTo(256)...)
+	checkOrder(t, 256, up, probe.UpTo(256)...)
 	checkOrder(t, 256, down, downFrom(255)...)
 	checkParts(t, 256, up, alone(256)...)
-	checkReach(t, 256, up, []int{0}, upTo(256)...)
-	checkReach(t, 256, up, []int{200}, upTo(256)[200:]...)
-	checkRound(t, 256, ring(upTo(256)...), upTo(256)...)
+	checkReach(t, 256, up, []int{0}, probe.UpTo(256)...)
+	checkReach(t, 256, up, []int{200}, probe.UpTo(256)[200:]...)
+	checkRound(t, 256, ring(probe.UpTo(256)...), probe.UpTo(256)...)
 	checkRound(t, 256, ring(downFrom(255)...), append([]int{0}, downFrom(255)[:255]...)...)
-	checkParts(t, 256, ring(downFrom(255)...), upTo(256))
-	checkNoOrder(t, 256, ring(upTo(256)...))
-	checkReach(t, 256, ring(upTo(256)...), []int{200}, upTo(256)...)
+	checkParts(t, 256, ring(downFrom(255)...), probe.UpTo(256))
+	checkNoOrder(t, 256, ring(probe.UpTo(256)...))
+	checkReach(t, 256, ring(probe.UpTo(256)...), []int{200}, probe.UpTo(256)...)
 }
 
 // layers are 16 rows of 16 nodes, the node k of the row r being k times 16 and r, with an edge from each node to each of the next row.
@@ -466,10 +457,10 @@ func TestManyWays(t *testing.T) {
 	}
 	checkLevels(t, 256, layers(15), levels...)
 	checkParts(t, 256, layers(15), alone(256)...)
-	checkRound(t, 256, layers(16), upTo(16)...)
-	checkParts(t, 256, layers(16), upTo(256))
+	checkRound(t, 256, layers(16), probe.UpTo(16)...)
+	checkParts(t, 256, layers(16), probe.UpTo(256))
 	checkNoOrder(t, 256, layers(16))
-	checkReach(t, 256, layers(16), []int{77}, upTo(256)...)
+	checkReach(t, 256, layers(16), []int{77}, probe.UpTo(256)...)
 	turned := layers(16)
 	for n, e := range turned {
 		turned[n] = [2]int{255 - e[0], 255 - e[1]}
@@ -487,10 +478,10 @@ func TestAllEdges(t *testing.T) {
 		}
 	}
 	checkRound(t, 64, all, 0)
-	checkParts(t, 64, all, upTo(64))
+	checkParts(t, 64, all, probe.UpTo(64))
 	others := slices.DeleteFunc(slices.Clone(all), func(e [2]int) bool { return e[0] == e[1] })
 	checkRound(t, 64, others, 0, 1)
 	up := slices.DeleteFunc(all, func(e [2]int) bool { return e[0] >= e[1] })
 	checkLevels(t, 64, up, downFrom(63)...)
-	checkOrder(t, 64, up, upTo(64)...)
+	checkOrder(t, 64, up, probe.UpTo(64)...)
 }

@@ -84,6 +84,15 @@ func (n *Numbers) Order(size int) []int {
 	return list
 }
 
+// UpTo is the numbers below a size, rising.
+func UpTo(size int) []int {
+	list := make([]int, size)
+	for k := range list {
+		list[k] = k
+	}
+	return list
+}
+
 // Names are n names with that beginning, no two the same.
 func Names(prefix string, n int) []string {
 	list := make([]string, n)

@@ -88,6 +88,12 @@ func TestOrder(t *testing.T) {
 	}
 }
 
+func TestUpTo(t *testing.T) {
+	if got := probe.UpTo(4); !slices.Equal(got, []int{0, 1, 2, 3}) || len(probe.UpTo(0)) != 0 {
+		t.Errorf("UpTo: %v", got)
+	}
+}
+
 func TestNames(t *testing.T) {
 	if got := probe.Names("n", 3); !slices.Equal(got, []string{"n0", "n1", "n2"}) {
 		t.Errorf("Names: %q", got)

@@ -203,23 +203,9 @@ func mixed(n *probe.Numbers) api.Grammar {
 	g := api.Grammar{Terms: probe.Letters('a', 1+n.Below(3)), Nonterms: probe.Letters('A', 1+n.Below(5))}
 	g.Axiom = n.Below(len(g.Nonterms))
 	for range n.Below(17) {
-		g.Rules = append(g.Rules, mixedRule(n, g, 1+n.Below(1+n.Below(6)), 2))
+		g.Rules = append(g.Rules, probe.OperatorRule(n, g, 1+n.Below(1+n.Below(6)), 2))
 	}
 	return g
-}
-
-// mixedRule is a rule of that many symbols, in operator form; one in so many is a nonterminal, where one may stand.
-func mixedRule(n *probe.Numbers, g api.Grammar, size, often int) api.Rule {
-	r := probe.Rule(n.Below(len(g.Nonterms)))
-	after := false
-	for range size {
-		symbol := n.Below(len(g.Terms))
-		if after = !after && n.Below(often) == 0; after {
-			symbol = -1 - n.Below(len(g.Nonterms))
-		}
-		r.Right = append(r.Right, symbol)
-	}
-	return r
 }
 
 func manyGrammars() []api.Grammar {
@@ -231,24 +217,12 @@ func manyGrammars() []api.Grammar {
 	return list
 }
 
-// operatorSides are right sides without those that are empty or have two nonterminals side by side.
-func operatorSides(sides [][]int) [][]int {
-	return slices.DeleteFunc(sides, func(side []int) bool {
-		for at := range side {
-			if at > 0 && side[at-1] < 0 && side[at] < 0 {
-				return true
-			}
-		}
-		return len(side) == 0
-	})
-}
-
 // smallGrammars are all in operator form, but for the order of rules, of up to three rules of up to three symbols, over the nonterminals A and B and the terminal a; of two rules, over a and b, too.
 func smallGrammars() []api.Grammar {
 	g := api.Grammar{Terms: probe.Letters('a', 1), Nonterms: probe.Letters('A', 2)}
-	list := probe.WithRules(g, 3, probe.RulesOf(2, operatorSides(probe.Sides(3, -2, -1, 0))...))
+	list := probe.WithRules(g, 3, probe.RulesOf(2, probe.OperatorSides(probe.Sides(3, -2, -1, 0))...))
 	g.Terms = probe.Letters('a', 2)
-	return append(list, probe.WithRules(g, 2, probe.RulesOf(2, operatorSides(probe.Sides(3, -2, -1, 0, 1))...))...)
+	return append(list, probe.WithRules(g, 2, probe.RulesOf(2, probe.OperatorSides(probe.Sides(3, -2, -1, 0, 1))...))...)
 }
 
 // wide is a grammar in operator form of up to the most symbols and rules, with right sides of up to 32 symbols.
@@ -259,7 +233,7 @@ func wide(n *probe.Numbers) api.Grammar {
 	longest := 2 + n.Below(1+n.Below(api.MaxRight-1))
 	often := 2 + n.Below(6)
 	for range 30 + n.Below(api.MaxSource-29) {
-		g.Rules = append(g.Rules, mixedRule(n, g, 1+n.Below(longest), often))
+		g.Rules = append(g.Rules, probe.OperatorRule(n, g, 1+n.Below(longest), often))
 	}
 	return g
 }
@@ -269,7 +243,7 @@ func dense(n *probe.Numbers) api.Grammar {
 	g := api.Grammar{Terms: probe.Letters('a', 1+n.Below(3)), Nonterms: probe.Letters('A', 4+n.Below(12))}
 	often := 2 + n.Below(2)
 	for range 10 + n.Below(60) {
-		g.Rules = append(g.Rules, mixedRule(n, g, 1+n.Below(5), often))
+		g.Rules = append(g.Rules, probe.OperatorRule(n, g, 1+n.Below(5), often))
 	}
 	return g
 }

@@ -37,6 +37,32 @@ func Sides(most int, symbols ...int) [][]int {
 	return list
 }
 
+// OperatorSides are right sides without those that are empty or have two nonterminals side by side.
+func OperatorSides(sides [][]int) [][]int {
+	return slices.DeleteFunc(sides, func(side []int) bool {
+		for at := range side {
+			if at > 0 && side[at-1] < 0 && side[at] < 0 {
+				return true
+			}
+		}
+		return len(side) == 0
+	})
+}
+
+// OperatorRule is a rule of that many symbols, in operator form; one in so many is a nonterminal, where one may stand.
+func OperatorRule(n *Numbers, g api.Grammar, size, often int) api.Rule {
+	r := Rule(n.Below(len(g.Nonterms)))
+	after := false
+	for range size {
+		symbol := n.Below(len(g.Terms))
+		if after = !after && n.Below(often) == 0; after {
+			symbol = -1 - n.Below(len(g.Nonterms))
+		}
+		r.Right = append(r.Right, symbol)
+	}
+	return r
+}
+
 // RulesOf are rules with each of those right sides, for each of so many nonterminals as Left.
 func RulesOf(nonterms int, sides ...[]int) []api.Rule {
 	var list []api.Rule

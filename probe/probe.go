@@ -74,6 +74,9 @@ func (n *Numbers) Below(bound int) int {
 	return int((uint64(*n) >> 33) % uint64(bound))
 }
 
+// One is one of the texts, of which there is to be one at least.
+func (n *Numbers) One(list ...string) string { return list[n.Below(len(list))] }
+
 // Order is the numbers below a size, each once, in an order that looks mixed.
 func (n *Numbers) Order(size int) []int {
 	list := make([]int, size)

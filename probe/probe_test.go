@@ -9,6 +9,7 @@ import (
 	"dovetail/api"
 	"dovetail/gram"
 	"dovetail/probe"
+	"dovetail/spec"
 )
 
 func TestWhich(t *testing.T) {
@@ -85,6 +86,44 @@ func TestOrder(t *testing.T) {
 	}
 	if mixed < 30 {
 		t.Errorf("only %d orders are mixed", mixed)
+	}
+}
+
+func TestOne(t *testing.T) {
+	var n probe.Numbers
+	seen := make(map[string]int)
+	for range 300 {
+		seen[n.One("a", "b", "c")]++
+	}
+	if len(seen) != 3 || min(seen["a"], seen["b"], seen["c"]) < 50 {
+		t.Errorf("how often each text came: %v", seen)
+	}
+}
+
+func TestTexts(t *testing.T) {
+	if got, want := probe.Texts(2, "a", "bc"), []string{"", "a", "bc", "aa", "abc", "bca", "bcbc"}; !slices.Equal(got, want) {
+		t.Errorf("Texts: %q", got)
+	}
+	if got := probe.Texts(0, "a"); !slices.Equal(got, []string{""}) {
+		t.Errorf("Texts of none: %q", got)
+	}
+}
+
+// TestMixedText: they come again, and both right and wrong ones are many.
+func TestMixedText(t *testing.T) {
+	var first, second probe.Numbers
+	right := 0
+	for range 1000 {
+		text := probe.MixedText(&first)
+		if text != probe.MixedText(&second) {
+			t.Fatalf("%q doesn't come again", text)
+		}
+		if _, err := spec.Read(text); err == nil {
+			right++
+		}
+	}
+	if right < 200 || right > 800 {
+		t.Errorf("%d are read", right)
 	}
 }
 
@@ -185,6 +224,28 @@ func TestSides(t *testing.T) {
 	}
 	if got := probe.Sides(3); len(got) != 1 || len(got[0]) != 0 {
 		t.Errorf("Sides of no symbols: %v", got)
+	}
+}
+
+func TestOperatorSides(t *testing.T) {
+	want := [][]int{{-1}, {4}, {-1, 4}, {4, -1}, {4, 4}}
+	if got := probe.OperatorSides(probe.Sides(2, -1, 4)); !slices.EqualFunc(got, want, slices.Equal[[]int]) {
+		t.Errorf("OperatorSides: %v", got)
+	}
+	if got := probe.OperatorSides([][]int{{4, 4, -1, -2}, {-1, 4, -1, 4}, {-2, -2, 4}}); len(got) != 1 {
+		t.Errorf("OperatorSides of longer ones: %v", got)
+	}
+}
+
+func TestOperatorRule(t *testing.T) {
+	g := api.Grammar{Terms: []string{"a", "b"}, Nonterms: []string{"S", "T", "U"}}
+	var n probe.Numbers
+	for k := range 500 {
+		r := probe.OperatorRule(&n, g, 1+k%8, 2+k%3)
+		g.Rules = []api.Rule{r}
+		if gram.Check(g) != nil || len(r.Right) != 1+k%8 || len(probe.OperatorSides([][]int{r.Right})) != 1 {
+			t.Fatalf("OperatorRule: %v", r)
+		}
 	}
 }
 

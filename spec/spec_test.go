@@ -87,59 +87,13 @@ func list(names ...string) []string { return names }
 // ruleLines are rule lines of those left sides, without names behind.
 func ruleLines(lefts []string) string { return strings.Join(lefts, " :\n") + " :\n" }
 
-// texts are all texts of at most n of the parts.
-func texts(n int, parts ...string) []string {
-	list := []string{""}
-	longest := list
-	for range n {
-		var longer []string
-		for _, s := range longest {
-			for _, p := range parts {
-				longer = append(longer, s+p)
-			}
-		}
-		list = append(list, longer...)
-		longest = longer
-	}
-	return list
-}
-
-// numbers is a row of numbers that look mixed, and what is chosen by them.
-type numbers struct{ probe.Numbers }
-
-func (n *numbers) one(list ...string) string { return list[n.Below(len(list))] }
-
-// mixedText is a text of right lines and, now and then, a wrong one.
-func mixedText(n *numbers) string {
-	var text strings.Builder
-	for range n.Below(7) {
-		switch n.Below(12) {
-		case 0:
-			text.WriteString(n.one("", "#", "\t", "# S : a", " | # |", "|"))
-		case 1:
-			text.WriteString(n.one("S", ": a", "\"S\" :", "| a : b", "S : \"", "S : \"\"", "\x80", "S :a", "S : a\"", "S : \x00 :"))
-		default:
-			text.WriteString(n.one("S :", "T :", "  U\t:", "|", "a :"))
-			for range n.Below(9) {
-				text.WriteString(n.one(" ", " ", "  ", "\t"))
-				text.WriteString(n.one("|", "|", "S", "T", "U", "a", "b", "\"S\"", "\"|\"", "\":\"", "\"a b\"", "\"a\"", "::", "|b", "#"))
-			}
-		}
-		text.WriteString("\n")
-	}
-	if s := text.String(); n.Below(2) == 0 {
-		return strings.TrimSuffix(s, "\n")
-	}
-	return text.String()
-}
-
 // manyTexts are all short texts of some words, and mixed ones.
 func manyTexts() []string {
-	list := texts(5, "S ", "a ", ": ", "| ", "\"S\" ", "\n", "# :")
-	list = append(list, texts(3, "S", ":", "|", " ", "\n", "#", "\"", "\\")...)
-	var n numbers
+	list := probe.Texts(5, "S ", "a ", ": ", "| ", "\"S\" ", "\n", "# :")
+	list = append(list, probe.Texts(3, "S", ":", "|", " ", "\n", "#", "\"", "\\")...)
+	var n probe.Numbers
 	for range 20000 {
-		list = append(list, mixedText(&n))
+		list = append(list, probe.MixedText(&n))
 	}
 	return list
 }
@@ -341,7 +295,7 @@ func TestAnyBytes(t *testing.T) {
 			checkAsRead(t, ahead+string([]byte{byte(c)})+"\" :")
 		}
 	}
-	var n numbers
+	var n probe.Numbers
 	for range 20000 {
 		text := make([]byte, n.Below(12))
 		for i := range text {
@@ -412,13 +366,13 @@ type side struct {
 	rights []string
 }
 
-func mixedSides(n *numbers) []side {
+func mixedSides(n *probe.Numbers) []side {
 	sides := []side{{left: "S"}, {left: "T"}, {left: "U"}}[:1+n.Below(3)]
 	for i := range sides {
 		for range 1 + n.Below(4) {
 			right := []string{}
 			for range n.Below(4) {
-				right = append(right, n.one("a", "b", "S", "T", "U", "\"S\"", "\"|\"", "\"a\"", "\"c\\n\""))
+				right = append(right, n.One("a", "b", "S", "T", "U", "\"S\"", "\"|\"", "\"a\"", "\"c\\n\""))
 			}
 			sides[i].rights = append(sides[i].rights, strings.Join(right, " "))
 		}
@@ -436,30 +390,30 @@ func oneLineEach(sides []side) string {
 }
 
 // anyLayout writes the same rules in any way that the chapter allows.
-func anyLayout(n *numbers, sides []side) string {
+func anyLayout(n *probe.Numbers, sides []side) string {
 	var text strings.Builder
 	end := func() {
-		text.WriteString(n.one("", " ", "\t", " # : |", "  #\"", "\t#\x80") + "\n")
+		text.WriteString(n.One("", " ", "\t", " # : |", "  #\"", "\t#\x80") + "\n")
 		for n.Below(3) == 0 {
-			text.WriteString(n.one("", "\t ", "# S : a", " #") + "\n")
+			text.WriteString(n.One("", "\t ", "# S : a", " #") + "\n")
 		}
 	}
 	for _, s := range sides {
 		for i, right := range s.rights {
 			switch way := n.Below(3); {
 			case i > 0 && way == 0:
-				text.WriteString(n.one(" ", "\t ") + "|")
+				text.WriteString(n.One(" ", "\t ") + "|")
 			case i > 0 && way == 1:
 				end()
-				text.WriteString(n.one("", "  ") + "|")
+				text.WriteString(n.One("", "  ") + "|")
 			default:
 				if text.Len() > 0 {
 					end()
 				}
-				text.WriteString(n.one("", " ") + s.left + n.one(" ", "\t") + ":")
+				text.WriteString(n.One("", " ") + s.left + n.One(" ", "\t") + ":")
 			}
 			for _, name := range strings.Fields(right) {
-				text.WriteString(n.one(" ", "  ", "\t") + name)
+				text.WriteString(n.One(" ", "  ", "\t") + name)
 			}
 		}
 	}
@@ -470,7 +424,7 @@ func anyLayout(n *numbers, sides []side) string {
 }
 
 func TestLayouts(t *testing.T) {
-	var n numbers
+	var n probe.Numbers
 	for range 5000 {
 		sides := mixedSides(&n)
 		want, err := spec.Read(oneLineEach(sides))

@@ -9,6 +9,7 @@ import (
 	"unsafe"
 
 	"dovetail/api"
+	"dovetail/probe"
 	"dovetail/words"
 )
 
@@ -16,26 +17,9 @@ import (
 func plain(text string, at int) words.Word  { return words.Word{Text: text, At: at} }
 func quoted(text string, at int) words.Word { return words.Word{Text: text, Quoted: true, At: at} }
 
-// texts are all texts of at most n of the parts.
-func texts(n int, parts ...string) []string {
-	list := []string{""}
-	longest := list
-	for range n {
-		var longer []string
-		for _, s := range longest {
-			for _, p := range parts {
-				longer = append(longer, s+p)
-			}
-		}
-		list = append(list, longer...)
-		longest = longer
-	}
-	return list
-}
-
 // shortLines are lines of which many are wrong, in many ways.
 func shortLines() []string {
-	return texts(5, "a", "#", "\"", "\\", "n", "x", "0", " ", "\n", "\x80")
+	return probe.Texts(5, "a", "#", "\"", "\\", "n", "x", "0", " ", "\n", "\x80")
 }
 
 // placeOf is the place that an error tells, or -1, if it isn't just ErrSyntax with a place.
@@ -242,7 +226,7 @@ func TestLineTakesJustRightLines(t *testing.T) {
 // P2.2
 
 func TestPlain(t *testing.T) {
-	for _, s := range texts(4, "a", "#", "\"", "\\", " ", "\t", "\n", "\x1f", "\x7f", "\x80", "~", "!") {
+	for _, s := range probe.Texts(4, "a", "#", "\"", "\\", " ", "\t", "\n", "\x1f", "\x7f", "\x80", "~", "!") {
 		l, err := words.Line(s)
 		want := err == nil && len(l) == 1 && l[0] == plain(s, 0)
 		if got := words.Plain(s); got != want {
@@ -326,7 +310,7 @@ func collect(s string) (numbers []int, lines []string) {
 }
 
 func TestLines(t *testing.T) {
-	for _, s := range texts(6, "a", "\n", "\r", "\x00") {
+	for _, s := range probe.Texts(6, "a", "\n", "\r", "\x00") {
 		want := strings.Split(s, "\n")
 		if want[len(want)-1] == "" {
 			want = want[:len(want)-1]
@@ -387,7 +371,7 @@ func TestLinesInsideItself(t *testing.T) {
 // P2.6
 
 func TestThereAndBack(t *testing.T) {
-	parts := texts(2, "a", "#", "\"", "\\", " ", "\n", "\x00", "\xff", "x0")
+	parts := probe.Texts(2, "a", "#", "\"", "\\", " ", "\n", "\x00", "\xff", "x0")
 	for i, s := range parts {
 		other := parts[(i*7+3)%len(parts)]
 		list := []words.Word{plain(s, 5), quoted(other, 1), plain(other, -1), quoted(s, 0), plain("b", 0)}
@@ -449,7 +433,7 @@ func TestPlaces(t *testing.T) {
 }
 
 func TestWhatStandsBehindChangesNothing(t *testing.T) {
-	lines := texts(3, "a", "#", "\"", "\\", " ", "\n", "\x80")
+	lines := probe.Texts(3, "a", "#", "\"", "\\", " ", "\n", "\x80")
 	for _, s := range lines {
 		ahead, err := words.Line(s)
 		if err != nil {

@@ -65,6 +65,29 @@ func PairOf(err error) (api.Pair, bool) {
 	return api.Pair{}, false
 }
 
+// Fault is all that an error tells.
+type Fault struct {
+	Which error
+	// Place and Rule are None where the error tells none.
+	Place, Rule int
+	Pair        api.Pair
+	Paired      bool
+}
+
+// FaultOf is what an error tells: of nil what Bare of nil is.
+func FaultOf(err error) Fault {
+	f := Fault{Which: Which(err), Place: PlaceOf(err), Rule: RuleOf(err)}
+	f.Pair, f.Paired = PairOf(err)
+	return f
+}
+
+// Bare, AtPlace and InRule are faults that tell just this.
+func Bare(which error) Fault { return Fault{Which: which, Place: None, Rule: None} }
+
+func AtPlace(which error, place int) Fault { return Fault{Which: which, Place: place, Rule: None} }
+
+func InRule(which error, rule int) Fault { return Fault{Which: which, Place: None, Rule: rule} }
+
 // Numbers is a row of numbers that look mixed, the same ones every time.
 type Numbers uint64
 

@@ -51,6 +51,28 @@ func TestWhichOfNoneAndOfSeveral(t *testing.T) {
 	}
 }
 
+func TestFaultOf(t *testing.T) {
+	pair := api.Pair{A: 1, B: 2, First: 3}
+	cases := []struct {
+		err  error
+		want probe.Fault
+	}{
+		{nil, probe.Bare(nil)},
+		{api.ErrLong, probe.Bare(api.ErrLong)},
+		{&api.PlaceError{Err: api.ErrName}, probe.AtPlace(api.ErrName, 0)},
+		{&api.RuleError{Err: api.ErrBounds}, probe.InRule(api.ErrBounds, 0)},
+		{&api.PairError{Err: api.ErrMatrix}, probe.Fault{Which: api.ErrMatrix, Place: probe.None, Rule: probe.None, Paired: true}},
+		{&api.PlaceError{At: 7, Err: &api.RuleError{Rule: 3, Err: &api.PairError{Pair: pair, Err: api.ErrForm}}}, probe.Fault{Which: api.ErrForm, Place: 7, Rule: 3, Pair: pair, Paired: true}},
+	}
+	for n, c := range cases {
+		for m, other := range cases {
+			if same := probe.FaultOf(c.err) == other.want; same != (n == m) {
+				t.Errorf("%v is %v: %v", c.err, other.want, same)
+			}
+		}
+	}
+}
+
 func TestNumbersComeAgain(t *testing.T) {
 	var first, second probe.Numbers
 	seen := make([]int, 5)

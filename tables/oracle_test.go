@@ -38,20 +38,6 @@ func firstError(g api.Grammar) error {
 	return err
 }
 
-// fault is all that an error tells.
-type fault struct {
-	which       error
-	place, rule int
-	pair        api.Pair
-	paired      bool
-}
-
-func faultOf(err error) fault {
-	f := fault{which: probe.Which(err), place: probe.PlaceOf(err), rule: probe.RuleOf(err)}
-	f.pair, f.paired = probe.PairOf(err)
-	return f
-}
-
 // told is all that tables tell without being asked for a number.
 type told struct {
 	grammar   api.Grammar
@@ -183,7 +169,7 @@ func checkMake(t *testing.T, g api.Grammar) *tables.Tables {
 	t.Helper()
 	x, err := tables.Make(g)
 	want := firstError(g)
-	if faultOf(err) != faultOf(want) || (x == nil) != (want != nil) {
+	if probe.FaultOf(err) != probe.FaultOf(want) || (x == nil) != (want != nil) {
 		t.Fatalf("Make of %v: %v, want %v", g, err, want)
 	}
 	if x == nil {

@@ -47,34 +47,28 @@ func made(t *testing.T, g api.Grammar) *tables.Tables {
 }
 
 // checkRefused wants an error of Make that tells just this, and no tables.
-func checkRefused(t *testing.T, g api.Grammar, want fault) {
+func checkRefused(t *testing.T, g api.Grammar, want probe.Fault) {
 	t.Helper()
-	if x, err := tables.Make(g); faultOf(err) != want || x != nil {
+	if x, err := tables.Make(g); probe.FaultOf(err) != want || x != nil {
 		t.Errorf("Make of %v: %v, want %v", g, err, want)
 	}
 }
 
 // checkTextRefused wants the same of Compile.
-func checkTextRefused(t *testing.T, text string, want fault) {
+func checkTextRefused(t *testing.T, text string, want probe.Fault) {
 	t.Helper()
-	if x, err := tables.Compile(text); faultOf(err) != want || x != nil {
+	if x, err := tables.Compile(text); probe.FaultOf(err) != want || x != nil {
 		t.Errorf("Compile of %.60q: %v, want %v", text, err, want)
 	}
 }
 
 // What an error is to tell, and nothing else.
-func bare(which error) fault { return fault{which: which, place: probe.None, rule: probe.None} }
+func atPlace(place int) probe.Fault { return probe.AtPlace(api.ErrSyntax, place) }
 
-func inRule(which error, rule int) fault {
-	return fault{which: which, place: probe.None, rule: rule}
-}
-
-func atPlace(place int) fault {
-	return fault{which: api.ErrSyntax, place: place, rule: probe.None}
-}
-
-func between(a, b, first, second int) fault {
-	return fault{which: api.ErrMatrix, place: probe.None, rule: probe.None, pair: api.Pair{A: a, B: b, First: first, Second: second}, paired: true}
+func between(a, b, first, second int) probe.Fault {
+	f := probe.Bare(api.ErrMatrix)
+	f.Pair, f.Paired = api.Pair{A: a, B: b, First: first, Second: second}, true
+	return f
 }
 
 // P14.1
@@ -166,7 +160,7 @@ func TestTextsThatAreRefused(t *testing.T) {
 	sum := func(names ...string) string { return strings.Join(names, " ") }
 	cases := []struct {
 		text string
-		want fault
+		want probe.Fault
 	}{
 		{"", atPlace(0)},
 		{"# none", atPlace(6)},
@@ -175,21 +169,21 @@ func TestTextsThatAreRefused(t *testing.T) {
 		{"S : a : b", atPlace(6)},
 		{"S : a\nT", atPlace(7)},
 		{"S : \"", atPlace(5)},
-		{"S : " + sum(probe.Names("t", 33)...), inRule(api.ErrBounds, 0)},
-		{"S : a | " + sum(probe.Names("t", 33)...), inRule(api.ErrBounds, 1)},
-		{"S : a" + strings.Repeat(" | a", 120), bare(api.ErrBounds)},
-		{"S : " + sum(probe.Names("t", 30)...) + " | " + sum(probe.Names("u", 30)...), bare(api.ErrBounds)},
-		{"S : S S", inRule(api.ErrNotOperator, 0)},
-		{"S :", inRule(api.ErrNotOperator, 0)},
-		{"S : a |", inRule(api.ErrNotOperator, 1)},
-		{"S : a | a S b\nT : a S S | S T", inRule(api.ErrNotOperator, 2)},
+		{"S : " + sum(probe.Names("t", 33)...), probe.InRule(api.ErrBounds, 0)},
+		{"S : a | " + sum(probe.Names("t", 33)...), probe.InRule(api.ErrBounds, 1)},
+		{"S : a" + strings.Repeat(" | a", 120), probe.Bare(api.ErrBounds)},
+		{"S : " + sum(probe.Names("t", 30)...) + " | " + sum(probe.Names("u", 30)...), probe.Bare(api.ErrBounds)},
+		{"S : S S", probe.InRule(api.ErrNotOperator, 0)},
+		{"S :", probe.InRule(api.ErrNotOperator, 0)},
+		{"S : a |", probe.InRule(api.ErrNotOperator, 1)},
+		{"S : a | a S b\nT : a S S | S T", probe.InRule(api.ErrNotOperator, 2)},
 		{"E : E + E | i", between(0, 0, api.Yields, api.Takes)},
 		{"S : a S a | b", between(0, 0, api.Yields, api.Equal)},
 		{"S : S a a | b", between(0, 0, api.Equal, api.Takes)},
 		{"S : a | S b S", between(1, 1, api.Yields, api.Takes)},
 		{"S : a | S b S | b b", between(1, 1, api.Yields, api.Equal)},
 		{"S : a | S b S | a T\nT : a | a a", between(0, 0, api.Yields, api.Equal)},
-		{"S : a b\nT : b T T T | T", inRule(api.ErrNotOperator, 1)},
+		{"S : a b\nT : b T T T | T", probe.InRule(api.ErrNotOperator, 1)},
 		{"S : a b\nT : b T b | T", between(1, 1, api.Yields, api.Equal)},
 	}
 	for _, c := range cases {
@@ -204,11 +198,11 @@ func TestTheFirstErrorOfATextIsTold(t *testing.T) {
 	checkTextRefused(t, big, clash)
 	rules := strings.Count(big, "\n")
 	operator := big + "S : S S\n"
-	checkTextRefused(t, operator, inRule(api.ErrNotOperator, rules))
-	checkTextRefused(t, "S :\n"+operator, inRule(api.ErrNotOperator, 0))
+	checkTextRefused(t, operator, probe.InRule(api.ErrNotOperator, rules))
+	checkTextRefused(t, "S :\n"+operator, probe.InRule(api.ErrNotOperator, 0))
 	bounds := operator + "S :" + strings.Repeat(" S", 33) + "\n"
-	checkTextRefused(t, bounds, inRule(api.ErrBounds, rules+1))
-	checkTextRefused(t, bounds+strings.Repeat("S :\n", 120), bare(api.ErrBounds))
+	checkTextRefused(t, bounds, probe.InRule(api.ErrBounds, rules+1))
+	checkTextRefused(t, bounds+strings.Repeat("S :\n", 120), probe.Bare(api.ErrBounds))
 	checkTextRefused(t, bounds+"S", atPlace(len(bounds)+1))
 	checkTextRefused(t, "S\n"+bounds, atPlace(1))
 }
@@ -261,15 +255,15 @@ func TestTooBig(t *testing.T) {
 		}
 	}
 	// At the bound of 600, and beyond it by one.
-	checkRefused(t, with(pairs(24), probe.Rule(0, 1, 1)), bare(api.ErrTooBig))
-	checkRefused(t, with(pairs(24), probe.Rule(0, 0, 0)), bare(api.ErrTooBig))
-	checkRefused(t, pairs(25), bare(api.ErrTooBig))
-	checkTextRefused(t, texted(pairs(25)), bare(api.ErrTooBig))
+	checkRefused(t, with(pairs(24), probe.Rule(0, 1, 1)), probe.Bare(api.ErrTooBig))
+	checkRefused(t, with(pairs(24), probe.Rule(0, 0, 0)), probe.Bare(api.ErrTooBig))
+	checkRefused(t, pairs(25), probe.Bare(api.ErrTooBig))
+	checkTextRefused(t, texted(pairs(25)), probe.Bare(api.ErrTooBig))
 	// A clash and what is no operator form go ahead.
 	checkRefused(t, stars(24), between(0, 0, api.Yields, api.Takes))
 	checkRefused(t, with(pairs(25), probe.Rule(0, 25, -1, 25)), between(0, 25, api.Yields, api.Takes))
-	checkRefused(t, with(pairs(25), probe.Rule(0)), inRule(api.ErrNotOperator, 51))
-	checkRefused(t, with(pairs(25), probe.Rule(0), probe.Rule(0, 25, -1, 25)), inRule(api.ErrNotOperator, 51))
+	checkRefused(t, with(pairs(25), probe.Rule(0)), probe.InRule(api.ErrNotOperator, 51))
+	checkRefused(t, with(pairs(25), probe.Rule(0), probe.Rule(0, 25, -1, 25)), probe.InRule(api.ErrNotOperator, 51))
 }
 
 // TestGrammarsThatMayNotBe: what layer 3 tells goes ahead of all, in whichever rule it is.
@@ -278,13 +272,13 @@ func TestGrammarsThatMayNotBe(t *testing.T) {
 	for _, g := range []api.Grammar{probe.Read(nest), clash, with(clash, probe.Rule(0), probe.Rule(0, -1, -1)), with(probe.Read(nest), probe.Rule(0)), stars(24), with(pairs(25), probe.Rule(0, -1, -1))} {
 		for _, w := range probe.Wrongs(g) {
 			x, err := tables.Make(w.Grammar)
-			if want := gram.Check(w.Grammar); want == nil || faultOf(err) != faultOf(want) || x != nil {
+			if want := gram.Check(w.Grammar); want == nil || probe.FaultOf(err) != probe.FaultOf(want) || x != nil {
 				t.Errorf("%s: %v, want %v", w.What, err, want)
 			}
 		}
 	}
-	checkRefused(t, api.Grammar{}, bare(api.ErrArg))
-	checkRefused(t, with(clash, probe.Rule(0), probe.Rule(1)), inRule(api.ErrArg, 3))
+	checkRefused(t, api.Grammar{}, probe.Bare(api.ErrArg))
+	checkRefused(t, with(clash, probe.Rule(0), probe.Rule(1)), probe.InRule(api.ErrArg, 3))
 }
 
 // P14.2
@@ -494,15 +488,15 @@ func TestExamples(t *testing.T) {
 	if f := x.Functions(); !slices.Equal(f.F, []int{2, 2, 0}) || !slices.Equal(f.G, []int{1, 3, 0}) {
 		t.Errorf("Functions: %v", f)
 	}
-	checkTextRefused(t, "S : S S", inRule(api.ErrNotOperator, 0))
+	checkTextRefused(t, "S : S S", probe.InRule(api.ErrNotOperator, 0))
 	checkTextRefused(t, two, between(0, 0, api.Yields, api.Takes))
 	checkTextRefused(t, "S", atPlace(1))
 	checkTextRefused(t, "", atPlace(0))
 	if g, _ := spec.Read(lines(plus)); !made(t, g).Same(x) {
 		t.Error("Make")
 	}
-	checkTextRefused(t, "S : "+strings.Join(probe.Names("t", 33), " "), inRule(api.ErrBounds, 0))
-	checkTextRefused(t, strings.Repeat("S : a\n", 121), bare(api.ErrBounds))
+	checkTextRefused(t, "S : "+strings.Join(probe.Names("t", 33), " "), probe.InRule(api.ErrBounds, 0))
+	checkTextRefused(t, strings.Repeat("S : a\n", 121), probe.Bare(api.ErrBounds))
 	if f := compiled(t, ring).Functions(); len(f.Cycle) != 4 || len(f.F)+len(f.G) > 0 {
 		t.Errorf("%s: %v", ring, f)
 	}

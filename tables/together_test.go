@@ -46,7 +46,7 @@ func TestCompileIsMakeOfWhatIsRead(t *testing.T) {
 		if want == nil {
 			y, want = tables.Make(g)
 		}
-		if faultOf(err) != faultOf(want) || (x == nil) != (err != nil) {
+		if probe.FaultOf(err) != probe.FaultOf(want) || (x == nil) != (err != nil) {
 			t.Fatalf("Compile of %q: %v, want %v", text, err, want)
 		}
 		counts[probe.Which(err)]++
@@ -116,7 +116,7 @@ func TestOtherNames(t *testing.T) {
 		x, err := tables.Make(g)
 		for _, other := range names(g) {
 			y, also := tables.Make(other)
-			if faultOf(err) != faultOf(also) || (x == nil) != (y == nil) {
+			if probe.FaultOf(err) != probe.FaultOf(also) || (x == nil) != (y == nil) {
 				t.Fatalf("%v: %v, with other names %v", g, err, also)
 			}
 			if x == nil {
@@ -188,24 +188,24 @@ func TestARuleLessMayBeTooBig(t *testing.T) {
 	}
 	more := probe.Rule(0, 1, 1)
 	checkMake(t, with(g, more))
-	checkRefused(t, with(less, more), bare(api.ErrTooBig))
+	checkRefused(t, with(less, more), probe.Bare(api.ErrTooBig))
 }
 
 // P1
 
 // lists tells whether a fault is one that P1 lists, and tells just what it says there.
-func lists(f fault) bool {
-	switch f.which {
+func lists(f probe.Fault) bool {
+	switch f.Which {
 	case api.ErrSyntax:
-		return f.place >= 0 && f.rule == probe.None && !f.paired
+		return f.Place >= 0 && f.Rule == probe.None && !f.Paired
 	case api.ErrBounds:
-		return f.place == probe.None && !f.paired
+		return f.Place == probe.None && !f.Paired
 	case api.ErrNotOperator:
-		return f.place == probe.None && f.rule >= 0 && !f.paired
+		return f.Place == probe.None && f.Rule >= 0 && !f.Paired
 	case api.ErrMatrix:
-		return f.place == probe.None && f.rule == probe.None && f.paired
+		return f.Place == probe.None && f.Rule == probe.None && f.Paired
 	case api.ErrTooBig:
-		return f.place == probe.None && f.rule == probe.None && !f.paired
+		return f.Place == probe.None && f.Rule == probe.None && !f.Paired
 	}
 	return false
 }
@@ -214,27 +214,27 @@ func lists(f fault) bool {
 func TestEveryTextIsRefusedOrHasTables(t *testing.T) {
 	for _, text := range manyTexts() {
 		x, err := tables.Compile(text)
-		f := faultOf(err)
+		f := probe.FaultOf(err)
 		if err != nil && !lists(f) || (x == nil) != (err != nil) {
 			t.Fatalf("%q: %v", text, err)
 		}
 		g, wrong := spec.Read(text)
-		if (wrong != nil) != (f.which == api.ErrSyntax || f.which == api.ErrBounds) {
+		if (wrong != nil) != (f.Which == api.ErrSyntax || f.Which == api.ErrBounds) {
 			t.Fatalf("%q: %v, and Read %v", text, err, wrong)
 		}
 		if wrong != nil {
 			continue
 		}
 		faults := opform.Faults(g)
-		if (len(faults) > 0) != (f.which == api.ErrNotOperator) || len(faults) > 0 && faults[0].Rule != f.rule {
+		if (len(faults) > 0) != (f.Which == api.ErrNotOperator) || len(faults) > 0 && faults[0].Rule != f.Rule {
 			t.Fatalf("%q: %v, and the faults %v", text, err, faults)
 		}
 		m, _ := matrix.Of(g)
-		p := f.pair
-		if f.paired && (p.First >= p.Second || !m.Holds(p.A, p.B, p.First) || !m.Holds(p.A, p.B, p.Second)) {
+		p := f.Pair
+		if f.Paired && (p.First >= p.Second || !m.Holds(p.A, p.B, p.First) || !m.Holds(p.A, p.B, p.Second)) {
 			t.Fatalf("%q: %v, and the matrix %s", text, err, drawn(m))
 		}
-		if f.which == nil && len(m.Clashes()) > 0 {
+		if f.Which == nil && len(m.Clashes()) > 0 {
 			t.Fatalf("%q: tables, and the clashes %v", text, m.Clashes())
 		}
 	}
@@ -249,7 +249,7 @@ func TestAnyBytes(t *testing.T) {
 		}
 		copy(text, n.One("", "S : ", "S : a ", "S : S ", "S : a S b | "))
 		x, err := tables.Compile(string(text))
-		if err != nil && !lists(faultOf(err)) || (x == nil) != (err != nil) {
+		if err != nil && !lists(probe.FaultOf(err)) || (x == nil) != (err != nil) {
 			t.Fatalf("%q: %v", text, err)
 		}
 	}

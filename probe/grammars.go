@@ -7,7 +7,9 @@ import (
 
 	"dovetail/api"
 	"dovetail/gram"
+	"dovetail/matrix"
 	"dovetail/spec"
+	"dovetail/tables"
 )
 
 // Read is the grammar of a text whose lines are parted by ; here.
@@ -17,6 +19,15 @@ func Read(text string) api.Grammar {
 		panic(text + ": " + err.Error())
 	}
 	return g
+}
+
+// Tables are those of a text whose lines are parted by ; here.
+func Tables(text string) *tables.Tables {
+	t, err := tables.Make(Read(text))
+	if err != nil {
+		panic(text + ": " + err.Error())
+	}
+	return t
 }
 
 // Rule is a rule of that Left and those symbols.
@@ -150,4 +161,22 @@ func Lessened(g api.Grammar) []api.Grammar {
 		list = append(list, less)
 	}
 	return list
+}
+
+// Clear is a grammar without a clash: of rules that are put to it one by one, so many times, those by which there is none. It is in operator form.
+func Clear(n *Numbers, terms, nonterms, tries, longest int) api.Grammar {
+	g := api.Grammar{Terms: Names("t", terms), Nonterms: Names("n", nonterms)}
+	g.Axiom = n.Below(nonterms)
+	for range tries {
+		more := g
+		more.Rules = append(slices.Clone(g.Rules), OperatorRule(n, g, 1+n.Below(1+n.Below(longest)), 2))
+		m, err := matrix.Of(more)
+		if err != nil {
+			break
+		}
+		if _, clash := m.Clash(); !clash {
+			g = more
+		}
+	}
+	return g
 }

@@ -8,6 +8,8 @@ import (
 
 	"dovetail/api"
 	"dovetail/gram"
+	"dovetail/matrix"
+	"dovetail/opform"
 	"dovetail/probe"
 	"dovetail/spec"
 )
@@ -271,6 +273,26 @@ func TestOperatorRule(t *testing.T) {
 	}
 }
 
+// TestClear: no grammar has a clash, and they are of all kinds.
+func TestClear(t *testing.T) {
+	var n, again probe.Numbers
+	seen := make([]int, 30)
+	for range 200 {
+		g := probe.Clear(&n, 4, 3, 25, 6)
+		m, err := matrix.Of(g)
+		if err != nil || !gram.Same(g, probe.Clear(&again, 4, 3, 25, 6)) {
+			t.Fatalf("Clear: %v, %v", g, err)
+		}
+		if _, clash := m.Clash(); clash || opform.Check(g) != nil || len(g.Terms) != 4 || len(g.Nonterms) != 3 {
+			t.Fatalf("Clear: %v", g)
+		}
+		seen[len(g.Rules)]++
+	}
+	if max(seen[0], seen[25]) > 10 || slices.Max(seen) > 80 {
+		t.Errorf("how many have how many rules: %v", seen)
+	}
+}
+
 func nest() api.Grammar {
 	return api.Grammar{Terms: []string{"a", "b"}, Nonterms: []string{"S"}, Rules: []api.Rule{probe.Rule(0, 0, -1, 1), probe.Rule(0)}}
 }
@@ -369,5 +391,64 @@ func TestDerived(t *testing.T) {
 				t.Errorf("%s, nonterminal %d: %v, want %q", c.text, n, rows, want)
 			}
 		}
+	}
+}
+
+// TestDeriver: all rows are derived, and of about the size that is asked for; of small grammars each short row comes.
+func TestDeriver(t *testing.T) {
+	var n probe.Numbers
+	for _, text := range []string{"S : a S b | a b", "E : E + T | T; T : ( E ) | i | j", "S : A | B; A : a | A b; B : S", "S : U | a S; U : U a; S : b"} {
+		g := probe.Read(text)
+		d, ok := probe.NewDeriver(g)
+		if !ok {
+			t.Fatalf("%s: no rows", text)
+		}
+		derived := probe.Derived(g, 6)[g.Axiom]
+		seen := make(probe.Rows)
+		longest := 0
+		for k := range 4000 {
+			size := k % 50 * (k % 2)
+			if size == 0 {
+				size = k % 8
+			}
+			row := named(g, d.Row(&n, size))
+			longest = max(longest, len(row))
+			if len(row) > 2*size+10 {
+				t.Errorf("%s: %q of the size %d", text, row, size)
+			}
+			if len(row) <= 6 {
+				seen[row] = struct{}{}
+				if !derived.Has(row) {
+					t.Errorf("%s: %q isn't derived", text, row)
+				}
+			}
+		}
+		if len(seen) != len(derived) || longest < 40 {
+			t.Errorf("%s: %d short rows of %d, the longest has %d", text, len(seen), len(derived), longest)
+		}
+	}
+}
+
+// named is a row as the names of its terminals.
+func named(g api.Grammar, row []int) string {
+	var text strings.Builder
+	for _, token := range row {
+		text.WriteString(g.Terms[token])
+	}
+	return text.String()
+}
+
+func TestDeriverOfNoRows(t *testing.T) {
+	for _, text := range []string{"S : a S", "S : S", "S : T a; T : T"} {
+		if _, ok := probe.NewDeriver(probe.Read(text)); ok {
+			t.Errorf("%s: rows", text)
+		}
+	}
+}
+
+func TestTables(t *testing.T) {
+	x := probe.Tables("S : a T; T : b")
+	if !gram.Same(x.Grammar(), probe.Read("S : a T; T : b")) || x.Relation(0, 1) != api.Yields {
+		t.Errorf("Tables: %v", x.Grammar())
 	}
 }

@@ -1,6 +1,11 @@
 package probe
 
-import "dovetail/api"
+import (
+	"slices"
+
+	"dovetail/api"
+	"dovetail/useful"
+)
 
 // Rows are rows of tokens, each as the names of its terminals, which are to be of one byte.
 type Rows map[string]struct{}
@@ -50,4 +55,98 @@ func made(g api.Grammar, right []int, of []Rows, most int) Rows {
 		rows = longer
 	}
 	return rows
+}
+
+// Deriver makes rows of tokens that a grammar's axiom derives.
+type Deriver struct {
+	axiom int
+	// sizes are how many tokens each nonterminal's shortest row has. rights are the right sides by which it derives any row, and least those by which it derives such a one.
+	sizes  []int
+	rights [][][]int
+	least  [][][]int
+}
+
+// NewDeriver answers false where the axiom derives no row, or long ones only. The grammar is to be in operator form.
+func NewDeriver(g api.Grammar) (*Deriver, bool) {
+	sizes, err := useful.Shortest(g)
+	if err != nil {
+		return nil, false
+	}
+	d := &Deriver{axiom: g.Axiom, sizes: sizes, rights: make([][][]int, len(sizes)), least: make([][][]int, len(sizes))}
+	for _, r := range g.Rules {
+		size, ok := d.size(r.Right)
+		if !ok {
+			continue
+		}
+		d.rights[r.Left] = append(d.rights[r.Left], r.Right)
+		if size == sizes[r.Left] {
+			d.least[r.Left] = append(d.least[r.Left], r.Right)
+		}
+	}
+	_, ok := d.size([]int{-1 - g.Axiom})
+	return d, ok
+}
+
+// mostTokens is how many tokens a nonterminal's shortest row may have, lest a Deriver do without it.
+const mostTokens = 1000
+
+// size is how many tokens the shortest row of a right side has, and whether a Deriver takes it.
+func (d *Deriver) size(right []int) (int, bool) {
+	size := 0
+	for _, symbol := range right {
+		switch {
+		case symbol >= 0:
+			size++
+		case d.sizes[-1-symbol] < 0 || d.sizes[-1-symbol] > mostTokens:
+			return 0, false
+		default:
+			size += d.sizes[-1-symbol]
+		}
+	}
+	return size, true
+}
+
+// Row is a row of about that many tokens.
+func (d *Deriver) Row(n *Numbers, size int) []int { return d.row(n, d.axiom, size, nil) }
+
+// row is the tokens ahead with a row of a nonterminal behind them.
+func (d *Deriver) row(n *Numbers, nonterm, size int, ahead []int) []int {
+	rights := d.rights[nonterm]
+	if size < d.sizes[nonterm] {
+		rights = d.least[nonterm]
+	}
+	right := draw(n, rights)
+	terms := 0
+	for _, symbol := range right {
+		if symbol >= 0 {
+			terms++
+		}
+	}
+	// A renaming takes something, too, lest a round of them goes on for ever.
+	size -= max(terms, 1)
+	for _, symbol := range right {
+		if symbol >= 0 {
+			ahead = append(ahead, symbol)
+			continue
+		}
+		share := max(size, 0)
+		if n.Below(8) == 0 {
+			share = n.Below(share + 1)
+		}
+		size -= share
+		ahead = d.row(n, -1-symbol, share, ahead)
+	}
+	return ahead
+}
+
+// draw is one of those right sides, mostly one that has a nonterminal, if there is one: or rows would be short.
+func draw(n *Numbers, rights [][]int) []int {
+	var right []int
+	for range 1 + n.Below(20) {
+		right = rights[n.Below(len(rights))]
+		if slices.Min(right) < 0 {
+			break
+		}
+	}
+	return right
 }

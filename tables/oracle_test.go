@@ -217,34 +217,16 @@ func smallGrammars() []api.Grammar {
 	return append(list, probe.WithRules(g, 3, probe.RulesOf(2, probe.Sides(2, -2, -1, 0)...))...)
 }
 
-// clearOne is a grammar without a clash: of rules that are put to it one by one those by which there is none. It is in operator form.
-func clearOne(n *probe.Numbers, terms, nonterms, tries, longest int) api.Grammar {
-	g := api.Grammar{Terms: probe.Names("t", terms), Nonterms: probe.Names("n", nonterms)}
-	g.Axiom = n.Below(nonterms)
-	for range tries {
-		more := g
-		more.Rules = append(slices.Clone(g.Rules), probe.OperatorRule(n, g, 1+n.Below(1+n.Below(longest)), 2))
-		m, err := matrix.Of(more)
-		if err != nil {
-			break
-		}
-		if _, clash := m.Clash(); !clash {
-			g = more
-		}
-	}
-	return g
-}
-
 // clearGrammars are of few symbols, and some of many.
 func clearGrammars() []api.Grammar {
 	var n probe.Numbers
 	var list []api.Grammar
 	for range 1500 {
-		list = append(list, clearOne(&n, 1+n.Below(6), 1+n.Below(6), 4+n.Below(30), 6))
+		list = append(list, probe.Clear(&n, 1+n.Below(6), 1+n.Below(6), 4+n.Below(30), 6))
 	}
 	for range 60 {
 		nonterms := 1 + n.Below(30)
-		list = append(list, clearOne(&n, 1+n.Below(api.MaxSymbols-nonterms), nonterms, 150, 1+n.Below(api.MaxRight)))
+		list = append(list, probe.Clear(&n, 1+n.Below(api.MaxSymbols-nonterms), nonterms, 150, 1+n.Below(api.MaxRight)))
 	}
 	return list
 }

@@ -102,16 +102,7 @@ func TestLanguageOfSmallGrammars(t *testing.T) {
 // TestLanguageWithoutClash: grammars of which the parts have something to tell apart.
 func TestLanguageWithoutClash(t *testing.T) {
 	var list []api.Grammar
-	for _, text := range []string{
-		"S : a S b | a b",
-		"E : E + T | T; T : i",
-		"E : E + T | T; T : T * F | F; F : ( E ) | i",
-		"E : T ^ E | T; T : ( E ) | i | j",
-		"S : c B | a D | P b | Q d; B : b; D : d; P : a; Q : c",
-		"S : A | B | A , S; A : a | ( A ) | { B }; B : b | ( B ) | { A }",
-		"S : a X c | b Y c; X : x | Z; Y : y | Z; Z : z | ( X ) | [ Y ]",
-		"P : P , Q | Q; Q : i = E | b P e; E : E - F | F; F : i",
-	} {
+	for _, text := range probe.ClearTexts() {
 		list = append(list, probe.Read(text))
 	}
 	size, single, _ := checkLanguages(t, list, func(api.Grammar) int { return 9 })

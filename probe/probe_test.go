@@ -447,6 +447,11 @@ func TestDeriverOfNoRows(t *testing.T) {
 }
 
 func TestTables(t *testing.T) {
+	for _, text := range probe.ClearTexts() {
+		if x := probe.Tables(text); !gram.Same(x.Grammar(), probe.Read(text)) {
+			t.Errorf("%s: Tables of %v", text, x.Grammar())
+		}
+	}
 	x := probe.Tables("S : a T; T : b")
 	if !gram.Same(x.Grammar(), probe.Read("S : a T; T : b")) || x.Relation(0, 1) != api.Yields {
 		t.Errorf("Tables: %v", x.Grammar())

@@ -9,7 +9,6 @@ import (
 	"dovetail/gram"
 	"dovetail/matrix"
 	"dovetail/spec"
-	"dovetail/tables"
 )
 
 // Read is the grammar of a text whose lines are parted by ; here.
@@ -19,15 +18,6 @@ func Read(text string) api.Grammar {
 		panic(text + ": " + err.Error())
 	}
 	return g
-}
-
-// Tables are those of a text whose lines are parted by ; here.
-func Tables(text string) *tables.Tables {
-	t, err := tables.Make(Read(text))
-	if err != nil {
-		panic(text + ": " + err.Error())
-	}
-	return t
 }
 
 // Rule is a rule of that Left and those symbols.
@@ -161,20 +151,6 @@ func Lessened(g api.Grammar) []api.Grammar {
 		list = append(list, less)
 	}
 	return list
-}
-
-// ClearTexts are texts, whose lines are parted by ; here, of grammars that have tables and of which the parts have something to tell apart.
-func ClearTexts() []string {
-	return []string{
-		"S : a S b | a b",
-		"E : E + T | T; T : i",
-		"E : E + T | T; T : T * F | F; F : ( E ) | i",
-		"E : T ^ E | T; T : ( E ) | i | j",
-		"S : c B | a D | P b | Q d; B : b; D : d; P : a; Q : c",
-		"S : A | B | A , S; A : a | ( A ) | { B }; B : b | ( B ) | { A }",
-		"S : a X c | b Y c; X : x | Z; Y : y | Z; Z : z | ( X ) | [ Y ]",
-		"P : P , Q | Q; Q : i = E | b P e; E : E - F | F; F : i",
-	}
 }
 
 // Clear is a grammar without a clash: of rules that are put to it one by one, so many times, those by which there is none. It is in operator form.

@@ -457,3 +457,55 @@ func TestTables(t *testing.T) {
 		t.Errorf("Tables: %v", x.Grammar())
 	}
 }
+
+// TestSomeTables: of each a row is derived, and terminals' names have one byte.
+func TestSomeTables(t *testing.T) {
+	var n probe.Numbers
+	all := probe.SomeTables()
+	if len(all) < 50 {
+		t.Errorf("%d tables", len(all))
+	}
+	for k, x := range all {
+		g := x.Grammar()
+		derived := probe.Derived(g, 8)[g.Axiom]
+		for size := range 8 {
+			row := probe.RowOf(&n, x, size)
+			if len(row) == 0 || len(row) <= 8 && !derived.Has(named(g, row)) {
+				t.Errorf("%v: %v isn't derived", g, row)
+			}
+		}
+		if slices.ContainsFunc(g.Terms, func(name string) bool { return len(name) != 1 }) {
+			t.Errorf("%v: long names", g)
+		}
+		if slices.ContainsFunc(all[:k], x.Same) {
+			t.Errorf("%v: there twice", g)
+		}
+	}
+}
+
+// TestSpoiled: what is spoiled is new memory, of the same terminals and of up to two tokens less or more.
+func TestSpoiled(t *testing.T) {
+	var n probe.Numbers
+	others, sizes := 0, make(map[int]int)
+	for range 1000 {
+		row := make([]int, n.Below(9), 12)
+		for k := range row {
+			row[k] = n.Below(3)
+		}
+		before := slices.Clone(row[:cap(row)])
+		got := probe.Spoiled(&n, 3, row)
+		if !slices.Equal(row[:cap(row)], before) || !probe.Apart(row, got) {
+			t.Fatalf("%v became %v", before, row[:cap(row)])
+		}
+		if slices.ContainsFunc(got, func(token int) bool { return token < 0 || token > 2 }) {
+			t.Fatalf("%v of 3 terminals", got)
+		}
+		if !slices.Equal(got, row) {
+			others++
+		}
+		sizes[len(got)-len(row)]++
+	}
+	if others < 700 || len(sizes) != 5 || sizes[3] > 0 || sizes[-3] > 0 {
+		t.Errorf("%d others, lengths %v", others, sizes)
+	}
+}

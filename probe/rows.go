@@ -4,6 +4,7 @@ import (
 	"slices"
 
 	"dovetail/api"
+	"dovetail/tables"
 	"dovetail/useful"
 )
 
@@ -149,4 +150,30 @@ func draw(n *Numbers, rights [][]int) []int {
 		}
 	}
 	return right
+}
+
+// RowOf is a row of about that many tokens which the axiom of tables' grammar derives. It is to derive some.
+func RowOf(n *Numbers, t *tables.Tables, size int) []int {
+	d, ok := NewDeriver(t.Grammar())
+	if !ok {
+		panic("no rows")
+	}
+	return d.Row(n, size)
+}
+
+// Spoiled is a row in new memory with a token or two less, more or others, of that many terminals.
+func Spoiled(n *Numbers, terms int, row []int) []int {
+	row = slices.Clone(row)
+	for range 1 + n.Below(2) {
+		at := n.Below(len(row) + 1)
+		switch of := n.Below(terms); n.Below(3) {
+		case 0:
+			row = slices.Insert(row, at, of)
+		case 1:
+			row = slices.Delete(row, at, min(at+1, len(row)))
+		default:
+			row = slices.Replace(row, at, min(at+1, len(row)), of)
+		}
+	}
+	return row
 }

@@ -224,7 +224,7 @@ func TestTreesOfSeveralSetsAndNodes(t *testing.T) {
 func TestPiecesWithAChange(t *testing.T) {
 	var n probe.Numbers
 	right, wrong := 0, 0
-	for _, x := range someTables() {
+	for _, x := range probe.SomeTables() {
 		for range 60 {
 			p := anyPiece(&n, x, n.Below(12))
 			if err := checkPiece(t, x, p); err != nil {

@@ -444,64 +444,7 @@ func samePiece(a, b api.Piece) bool {
 	return a.From == b.From && a.To == b.To && slices.Equal(a.Items, b.Items) && slices.Equal(a.Steps, b.Steps)
 }
 
-// Tables, tokens and pieces that look mixed
-
-// someTables are of grammars that have something to tell apart, and of mixed ones.
-func someTables() []*tables.Tables {
-	var list []*tables.Tables
-	more := []string{
-		"S : a b c | a b c S | ( S )", "S : S a b c | a b c",
-		"S : ( A ) | i; A : S b S c S | b c S | S b c",
-		"S : x P y | w P z; P : Q | p Q; Q : i",
-	}
-	for _, text := range append(probe.ClearTexts(), more...) {
-		list = append(list, probe.Tables(text))
-	}
-	return append(list, mixedTables(40)...)
-}
-
-// mixedTables are of that many grammars without a clash, whose axioms derive some rows.
-func mixedTables(many int) []*tables.Tables {
-	var n probe.Numbers
-	var list []*tables.Tables
-	for len(list) < many {
-		g := probe.Clear(&n, 1+n.Below(6), 1+n.Below(5), 5+n.Below(20), 6)
-		g.Terms = probe.Letters('a', len(g.Terms))
-		if d, ok := probe.NewDeriver(g); !ok || len(d.Row(&n, 8)) < 3 {
-			continue
-		}
-		if x, err := tables.Make(g); err == nil {
-			list = append(list, x)
-		}
-	}
-	return list
-}
-
-// derived is a row that the axiom derives, of about that many tokens.
-func derived(n *probe.Numbers, x *tables.Tables, size int) []int {
-	d, ok := probe.NewDeriver(x.Grammar())
-	if !ok {
-		panic("no rows")
-	}
-	return d.Row(n, size)
-}
-
-// spoiled is a row with some tokens less, more or others.
-func spoiled(n *probe.Numbers, x *tables.Tables, row []int) []int {
-	row = slices.Clone(row)
-	for range 1 + n.Below(2) {
-		at := n.Below(len(row) + 1)
-		switch of := n.Below(x.Terms()); n.Below(3) {
-		case 0:
-			row = slices.Insert(row, at, of)
-		case 1:
-			row = slices.Delete(row, at, min(at+1, len(row)))
-		default:
-			row = slices.Replace(row, at, min(at+1, len(row)), of)
-		}
-	}
-	return row
-}
+// Pieces that look mixed
 
 // grower makes trees of a normal form.
 type grower struct {

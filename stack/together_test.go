@@ -56,11 +56,11 @@ func offered(n *probe.Numbers, x *tables.Tables, place int, next []int) api.Piec
 func TestStacksAsTheWords(t *testing.T) {
 	var n probe.Numbers
 	var shifts, takes, ends told
-	for _, x := range someTables() {
+	for _, x := range probe.SomeTables() {
 		for run := range 120 {
-			row := derived(&n, x, n.Below(30))
+			row := probe.RowOf(&n, x, n.Below(30))
 			if run%3 == 0 {
-				row = spoiled(&n, x, row)
+				row = probe.Spoiled(&n, x.Terms(), row)
 			}
 			s := newTwo(x, n.Below(3)*n.Below(20))
 			switch run % 8 {
@@ -116,7 +116,7 @@ func runBoth(t *testing.T, n *probe.Numbers, s two, row []int, shifts, takes, en
 
 // TestPiecesOfAllRows: all short rows of terminals, on both kinds of stacks, each step of the way.
 func TestPiecesOfAllRows(t *testing.T) {
-	for _, x := range someTables()[:16] {
+	for _, x := range probe.SomeTables()[:16] {
 		most := 5
 		if x.Terms() > 5 {
 			most = 3
@@ -157,12 +157,12 @@ func checkOpen(t *testing.T, x *tables.Tables, p api.Piece) {
 func TestPiecesOfStacksMayBe(t *testing.T) {
 	var n probe.Numbers
 	several := 0
-	for _, x := range someTables() {
+	for _, x := range probe.SomeTables() {
 		for run := range 60 {
 			s := stack.New(x, n.Below(9))
-			row := derived(&n, x, n.Below(40))
+			row := probe.RowOf(&n, x, n.Below(40))
 			if run%3 == 0 {
-				row = spoiled(&n, x, row)
+				row = probe.Spoiled(&n, x.Terms(), row)
 			}
 			for _, token := range row[n.Below(len(row)/2+1):] {
 				if n.Below(20) == 0 {
@@ -199,11 +199,11 @@ func checkReductions(t *testing.T, made []api.Step, shifts int) {
 
 func TestEachReductionHasATerminal(t *testing.T) {
 	var n probe.Numbers
-	for _, x := range someTables() {
+	for _, x := range probe.SomeTables() {
 		for range 60 {
-			row := derived(&n, x, n.Below(50))
+			row := probe.RowOf(&n, x, n.Below(50))
 			if n.Below(2) == 0 {
-				row = spoiled(&n, x, row)
+				row = probe.Spoiled(&n, x.Terms(), row)
 			}
 			s, w := stack.New(x, 0), stack.Whole(x)
 			for _, token := range row {
@@ -222,7 +222,7 @@ func TestEachReductionHasATerminal(t *testing.T) {
 // TestAllRowsThatAreDerived (P2): just these have a tree.
 func TestAllRowsThatAreDerived(t *testing.T) {
 	trees := 0
-	for _, x := range someTables() {
+	for _, x := range probe.SomeTables() {
 		most := 6
 		switch {
 		case x.Terms() > 5:
@@ -276,9 +276,9 @@ func leaves(ahead []int, p part) []int {
 
 func TestRowsThatAreDerivedHaveATree(t *testing.T) {
 	var n probe.Numbers
-	for _, x := range someTables() {
+	for _, x := range probe.SomeTables() {
 		for size := range 60 {
-			row := derived(&n, x, size)
+			row := probe.RowOf(&n, x, size)
 			s := came(t, stack.Whole(x), row...)
 			tree, err := s.End()
 			if err != nil || s.Place() != len(row) {
@@ -392,11 +392,11 @@ func checkEnd(t *testing.T, x *tables.Tables, p api.Piece, want []api.Step, none
 func TestNoOrder(t *testing.T) {
 	var n probe.Numbers
 	trees, others := 0, 0
-	for _, x := range someTables() {
+	for _, x := range probe.SomeTables() {
 		for run := range 150 {
-			row := derived(&n, x, n.Below(40))
+			row := probe.RowOf(&n, x, n.Below(40))
 			if run%3 == 0 {
-				row = spoiled(&n, x, row)
+				row = probe.Spoiled(&n, x.Terms(), row)
 			}
 			if checkWay(t, &n, x, row) {
 				trees++
@@ -412,7 +412,7 @@ func TestNoOrder(t *testing.T) {
 
 // TestAllCuts: short rows, cut in all ways; the pieces are taken from the left on, and joined from the right on.
 func TestAllCuts(t *testing.T) {
-	for _, x := range someTables()[:14] {
+	for _, x := range probe.SomeTables()[:14] {
 		most := 6
 		if x.Terms() > 2 {
 			most = 4
@@ -597,7 +597,7 @@ func spoil(p api.Piece) {
 
 func TestWhatIsHandedInStays(t *testing.T) {
 	var n probe.Numbers
-	for _, x := range someTables() {
+	for _, x := range probe.SomeTables() {
 		for range 60 {
 			p := anyPiece(&n, x, n.Below(8))
 			if n.Below(3) == 0 {
@@ -625,10 +625,10 @@ func TestWhatIsHandedInStays(t *testing.T) {
 // TestNothingIsKept: a piece that was taken may be changed, and the stack is as it was.
 func TestNothingIsKept(t *testing.T) {
 	var n probe.Numbers
-	for _, x := range someTables() {
+	for _, x := range probe.SomeTables() {
 		for range 40 {
 			s, w := newTwo(x, 0), wholeTwo(x)
-			row := derived(&n, x, 20)
+			row := probe.RowOf(&n, x, 20)
 			for s.m.place < len(row) && !s.m.refused && !w.m.refused {
 				p := offered(&n, x, s.m.place, row[s.m.place:])
 				for _, b := range []two{s, w} {
@@ -652,8 +652,8 @@ func TestNothingIsKept(t *testing.T) {
 
 func TestAnswersAreNewMemory(t *testing.T) {
 	var n probe.Numbers
-	for _, x := range someTables() {
-		row := derived(&n, x, 40)
+	for _, x := range probe.SomeTables() {
+		row := probe.RowOf(&n, x, 40)
 		s, w := newTwo(x, 0), wholeTwo(x)
 		for at, token := range row {
 			s.shift(t, token)
@@ -703,9 +703,9 @@ func TestStacksHaveNothingToDoWithEachOther(t *testing.T) {
 // TestRefusedCallsChangeNothing: between tokens stand calls that are refused, and the stack is as without them.
 func TestRefusedCallsChangeNothing(t *testing.T) {
 	var n probe.Numbers
-	for _, x := range someTables() {
+	for _, x := range probe.SomeTables() {
 		for range 20 {
-			row := derived(&n, x, 30)
+			row := probe.RowOf(&n, x, 30)
 			s, want := stack.New(x, 5), newModel(x, 5)
 			for _, token := range row {
 				checkFault(t, s.Shift(x.Terms()), api.ErrArg)

@@ -179,35 +179,10 @@ func checkAccepted(t *testing.T, x *tables.Tables, tokens []int, r parse.Run) {
 	if r.Shifts != len(tokens) || !slices.Equal(sorted(r.Made), sorted(r.Tree)) {
 		t.Fatalf("of %d tokens %d shifts, made %v, the tree %v", len(tokens), r.Shifts, r.Made, r.Tree)
 	}
-	rules := x.Normal().Rules
-	first := r.Tree[0]
-	if rest, ok := readTree(rules, r.Tree, tokens); !ok || len(rest) > 0 || first.From != 0 || first.To != len(tokens) || !x.Start(rules[first.Rule].Left) {
+	root, ok := probe.TreeOf(x.Normal().Rules, r.Tree)
+	if !ok || root.Step.From != 0 || !slices.Equal(root.Tokens(), tokens) || !x.Start(-1-root.Symbol) {
 		t.Fatalf("the tree %v of %v", r.Tree, brief(tokens))
 	}
-}
-
-// readTree answers the steps behind the tree with which steps begin, and whether that is one over the tokens.
-func readTree(rules []api.Rule, list []api.Step, tokens []int) ([]api.Step, bool) {
-	first, rest := list[0], list[1:]
-	at := first.From
-	for _, symbol := range rules[first.Rule].Right {
-		if symbol >= 0 {
-			if tokens[at] != symbol {
-				return nil, false
-			}
-			at++
-			continue
-		}
-		if len(rest) == 0 || rest[0].From != at || -1-rules[rest[0].Rule].Left != symbol {
-			return nil, false
-		}
-		at = rest[0].To
-		ok := false
-		if rest, ok = readTree(rules, rest, tokens); !ok {
-			return nil, false
-		}
-	}
-	return rest, at == first.To
 }
 
 // What tests are made of

@@ -2,6 +2,7 @@ package probe_test
 
 import (
 	"errors"
+	"math"
 	"slices"
 	"strings"
 	"testing"
@@ -443,6 +444,114 @@ func TestDeriverOfNoRows(t *testing.T) {
 		if _, ok := probe.NewDeriver(probe.Read(text)); ok {
 			t.Errorf("%s: rows", text)
 		}
+	}
+}
+
+// TestTreesOfADeriver: the trees that a Deriver makes are trees of its rows.
+func TestTreesOfADeriver(t *testing.T) {
+	var n, m probe.Numbers
+	rules := make(map[int]int)
+	for k, text := range []string{"S : a S b | a b", "E : E + T | T; T : ( E ) | i | j", "S : S S S | T; T : a | S | b T T"} {
+		g := probe.Read(text)
+		d, _ := probe.NewDeriver(g)
+		for size := range 300 {
+			tree, row := d.Tree(&n, size)
+			root, ok := probe.TreeOf(g.Rules, tree)
+			if !ok || root.Symbol != -1-g.Axiom || root.Step.From != 0 || !slices.Equal(root.Tokens(), row) || !slices.Equal(d.Row(&m, size), row) {
+				t.Fatalf("%s: %v of %v", text, tree, row)
+			}
+			for _, s := range tree {
+				rules[100*k+s.Rule]++
+			}
+		}
+	}
+	if len(rules) != 2+5+5 {
+		t.Errorf("the rules %v", rules)
+	}
+}
+
+func TestTreeOf(t *testing.T) {
+	rules := probe.Read("E : E + T | T; T : i").Rules
+	right := []api.Step{{Rule: 0, From: 0, To: 3}, {Rule: 1, From: 0, To: 1}, {Rule: 2, From: 0, To: 1}, {Rule: 2, From: 2, To: 3}}
+	for _, by := range []int{0, 1, 7, math.MaxInt - 3} {
+		list := probe.Moved(right, by)
+		root, ok := probe.TreeOf(rules, list)
+		if !ok || root.Symbol != -1 || root.Step != list[0] || len(root.Parts) != 3 || !slices.Equal(root.Tokens(), []int{1, 0, 1}) || !slices.Equal(root.Steps(), list) {
+			t.Errorf("%v: %v, %v", list, root, ok)
+		}
+	}
+	if root, ok := probe.TreeOf(rules, right[3:]); !ok || root.Symbol != -2 || root.Parts[0].Step != (api.Step{From: 2, To: 3}) {
+		t.Errorf("%v, %v", root, ok)
+	}
+	wrong := [][]api.Step{
+		nil, right[:3], right[:1], append(right[:4:4], right[3]), right[1:],
+		probe.Moved(right, -1), probe.Moved(right, math.MaxInt-2),
+		{{Rule: -1, To: 1}}, {{Rule: 3, To: 1}}, {{Rule: 2}}, {{Rule: 2, To: 2}}, {{Rule: 1, To: 1}, {Rule: 1, To: 1}},
+		{{Rule: 1, To: 1}, {Rule: 2, From: 1, To: 2}}, {{Rule: 1, To: 2}, {Rule: 2, To: 1}}, {{Rule: 2, From: math.MaxInt, To: math.MinInt}},
+	}
+	for _, list := range wrong {
+		if root, ok := probe.TreeOf(rules, list); ok {
+			t.Errorf("%v: %v", list, root)
+		}
+	}
+}
+
+// TestMixedGrammars: each may be, has no empty right side, and derives rows; nonterminals stand side by side in many, and renamings in many.
+func TestMixedGrammars(t *testing.T) {
+	var n probe.Numbers
+	beside, renamings := 0, 0
+	for _, g := range probe.MixedGrammars(60) {
+		if err := gram.Check(g); err != nil {
+			t.Fatalf("%v: %v", g, err)
+		}
+		d, ok := probe.NewDeriver(g)
+		if !ok || len(d.Row(&n, 5)) == 0 {
+			t.Fatalf("%v: no rows", g)
+		}
+		if err := opform.Check(g); err != nil {
+			beside++
+		}
+		if slices.ContainsFunc(g.Rules, func(r api.Rule) bool { _, ok := gram.Renaming(r); return ok }) {
+			renamings++
+		}
+		if slices.ContainsFunc(g.Rules, func(r api.Rule) bool { return len(r.Right) == 0 }) {
+			t.Errorf("%v: an empty right side", g)
+		}
+	}
+	if min(beside, renamings) < 20 {
+		t.Errorf("%d not in operator form, %d with renamings", beside, renamings)
+	}
+}
+
+func TestMoved(t *testing.T) {
+	list := []api.Step{{Rule: 1, From: 2, To: 3}, {Rule: 4, From: 5, To: 6}}
+	got := probe.Moved(list, 10)
+	if !slices.Equal(got, []api.Step{{Rule: 1, From: 12, To: 13}, {Rule: 4, From: 15, To: 16}}) || list[0].From != 2 || !probe.Apart(list, got) {
+		t.Errorf("Moved: %v of %v", got, list)
+	}
+}
+
+// TestSpoiledSteps: what is spoiled is new memory, and nearly always another list, of up to one step less or more.
+func TestSpoiledSteps(t *testing.T) {
+	var n probe.Numbers
+	others, sizes := 0, make(map[int]int)
+	for range 1000 {
+		list := make([]api.Step, n.Below(9), 12)
+		for k := range list {
+			list[k] = api.Step{Rule: n.Below(3), From: n.Below(9), To: n.Below(9)}
+		}
+		before := slices.Clone(list[:cap(list)])
+		got := probe.SpoiledSteps(&n, 3, list)
+		if !slices.Equal(list[:cap(list)], before) || !probe.Apart(list, got) {
+			t.Fatalf("%v became %v", before, list[:cap(list)])
+		}
+		if !slices.Equal(got, list) {
+			others++
+		}
+		sizes[len(got)-len(list)]++
+	}
+	if others < 700 || len(sizes) != 3 || min(sizes[-1], sizes[0], sizes[1]) < 100 {
+		t.Errorf("%d others, lengths %v", others, sizes)
 	}
 }
 

@@ -58,30 +58,31 @@ func made(g api.Grammar, right []int, of []Rows, most int) Rows {
 	return rows
 }
 
-// Deriver makes rows of tokens that a grammar's axiom derives.
+// Deriver makes rows of tokens that a grammar's axiom derives, and their trees.
 type Deriver struct {
 	axiom int
-	// sizes are how many tokens each nonterminal's shortest row has. rights are the right sides by which it derives any row, and least those by which it derives such a one.
-	sizes  []int
-	rights [][][]int
-	least  [][][]int
+	rules []api.Rule
+	// sizes are how many tokens each nonterminal's shortest row has. all are the rules by which it derives any row, and least those by which it derives such a one.
+	sizes []int
+	all   [][]int
+	least [][]int
 }
 
-// NewDeriver answers false where the axiom derives no row, or long ones only. The grammar is to be in operator form.
+// NewDeriver answers false where the axiom derives no row, or long ones only. No right side of the grammar is to be empty.
 func NewDeriver(g api.Grammar) (*Deriver, bool) {
 	sizes, err := useful.Shortest(g)
 	if err != nil {
 		return nil, false
 	}
-	d := &Deriver{axiom: g.Axiom, sizes: sizes, rights: make([][][]int, len(sizes)), least: make([][][]int, len(sizes))}
-	for _, r := range g.Rules {
+	d := &Deriver{axiom: g.Axiom, rules: g.Rules, sizes: sizes, all: make([][]int, len(sizes)), least: make([][]int, len(sizes))}
+	for k, r := range g.Rules {
 		size, ok := d.size(r.Right)
 		if !ok {
 			continue
 		}
-		d.rights[r.Left] = append(d.rights[r.Left], r.Right)
+		d.all[r.Left] = append(d.all[r.Left], k)
 		if size == sizes[r.Left] {
-			d.least[r.Left] = append(d.least[r.Left], r.Right)
+			d.least[r.Left] = append(d.least[r.Left], k)
 		}
 	}
 	_, ok := d.size([]int{-1 - g.Axiom})
@@ -108,48 +109,65 @@ func (d *Deriver) size(right []int) (int, bool) {
 }
 
 // Row is a row of about that many tokens.
-func (d *Deriver) Row(n *Numbers, size int) []int { return d.row(n, d.axiom, size, nil) }
-
-// row is the tokens ahead with a row of a nonterminal behind them.
-func (d *Deriver) row(n *Numbers, nonterm, size int, ahead []int) []int {
-	rights := d.rights[nonterm]
-	if size < d.sizes[nonterm] {
-		rights = d.least[nonterm]
-	}
-	right := draw(n, rights)
-	terms := 0
-	for _, symbol := range right {
-		if symbol >= 0 {
-			terms++
-		}
-	}
-	// A renaming takes something, too, lest a round of them goes on for ever.
-	size -= max(terms, 1)
-	for _, symbol := range right {
-		if symbol >= 0 {
-			ahead = append(ahead, symbol)
-			continue
-		}
-		share := max(size, 0)
-		if n.Below(8) == 0 {
-			share = n.Below(share + 1)
-		}
-		size -= share
-		ahead = d.row(n, -1-symbol, share, ahead)
-	}
-	return ahead
+func (d *Deriver) Row(n *Numbers, size int) []int {
+	_, row := d.Tree(n, size)
+	return row
 }
 
-// draw is one of those right sides, mostly one that has a nonterminal, if there is one: or rows would be short.
-func draw(n *Numbers, rights [][]int) []int {
-	var right []int
+// Tree is a derivation tree of a row of about that many tokens, and the row.
+func (d *Deriver) Tree(n *Numbers, size int) ([]api.Step, []int) {
+	var tree []api.Step
+	var row []int
+	var grow func(nonterm, size int)
+	grow = func(nonterm, size int) {
+		at, rule := len(tree), d.draw(n, nonterm, size)
+		tree = append(tree, api.Step{Rule: rule, From: len(row)})
+		right := d.rules[rule].Right
+		// A renaming takes something, too, lest a round of them goes on for ever.
+		size -= max(terms(right), 1)
+		for _, symbol := range right {
+			if symbol >= 0 {
+				row = append(row, symbol)
+				continue
+			}
+			share := max(size, 0)
+			if n.Below(8) == 0 {
+				share = n.Below(share + 1)
+			}
+			size -= share
+			grow(-1-symbol, share)
+		}
+		tree[at].To = len(row)
+	}
+	grow(d.axiom, size)
+	return tree, row
+}
+
+// terms is how many terminals a right side has.
+func terms(right []int) int {
+	many := 0
+	for _, symbol := range right {
+		if symbol >= 0 {
+			many++
+		}
+	}
+	return many
+}
+
+// draw is a rule of a nonterminal for about that many tokens, mostly one that has a nonterminal, if there is one: or rows would be short.
+func (d *Deriver) draw(n *Numbers, nonterm, size int) int {
+	from := d.all[nonterm]
+	if size < d.sizes[nonterm] {
+		from = d.least[nonterm]
+	}
+	rule := 0
 	for range 1 + n.Below(20) {
-		right = rights[n.Below(len(rights))]
-		if slices.Min(right) < 0 {
+		rule = from[n.Below(len(from))]
+		if slices.Min(d.rules[rule].Right) < 0 {
 			break
 		}
 	}
-	return right
+	return rule
 }
 
 // RowOf is a row of about that many tokens which the axiom of tables' grammar derives. It is to derive some.
